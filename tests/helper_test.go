@@ -1,0 +1,221 @@
+package tests
+
+import (
+	"cmp"
+	"fmt"
+	"reflect"
+	"runtime"
+	"slices"
+	"strings"
+	"testing"
+)
+
+// spareRoom is how many elements of unused capacity the copies of a slice get.
+const spareRoom = 3
+
+func in(args ...any) []any { return args }
+
+// expect calls f under the checks of promise 1 and compares its results, where nil and empty slices are equal.
+// A nil stands for the zero value of any type.
+func expect(t *testing.T, f any, args []any, want ...any) {
+	t.Helper()
+	got := call(t, f, args...)
+	if len(got) != len(want) {
+		t.Fatalf("%s has %d results, want %d", nameOf(f), len(got), len(want))
+	}
+	for i := range want {
+		w := want[i]
+		if n, ok := w.(int); ok {
+			w = int64(n)
+		}
+		if w == nil && !isZero(got[i]) || w != nil && !same(got[i], w) {
+			t.Errorf("%s%s, result %d: got %#v, want %#v", nameOf(f), argumentText(args), i, got[i], w)
+		}
+	}
+}
+
+// call calls f with copies of the arguments and checks promise 1: it returns, changes no argument, not even in unused
+// capacity, shares no memory, and returns the same for equal arguments that lie elsewhere and have other capacities.
+func call(t *testing.T, f any, args ...any) []any {
+	t.Helper()
+	first := callOnce(t, f, args, spareRoom)
+	second := callOnce(t, f, args, 0)
+	for i := range first {
+		if !same(first[i], second[i]) {
+			t.Errorf("%s%s, result %d: %#v at first and then %#v", nameOf(f), argumentText(args), i, first[i], second[i])
+		}
+	}
+	return first
+}
+
+func callOnce(t *testing.T, f any, args []any, spare int) (results []any) {
+	t.Helper()
+	defer func() {
+		if r := recover(); r != nil {
+			t.Fatalf("%s%s panics: %v", nameOf(f), argumentText(args), r)
+		}
+	}()
+	fun := reflect.ValueOf(f)
+	given := make([]reflect.Value, len(args))
+	before := make([]any, len(args))
+	for i, a := range args {
+		given[i] = copyOf(argumentOf(a, fun.Type().In(i)), spare)
+		before[i] = copyOf(withCapacity(given[i]), 0).Interface()
+	}
+	outs := fun.Call(given)
+	for i := range given {
+		if !reflect.DeepEqual(before[i], copyOf(withCapacity(given[i]), 0).Interface()) {
+			t.Errorf("%s%s changes argument %d", nameOf(f), argumentText(args), i)
+		}
+	}
+	if sharesMemory(given, outs) {
+		t.Errorf("%s%s: a result shares memory with an argument or with another result", nameOf(f), argumentText(args))
+	}
+	for _, out := range outs {
+		results = append(results, out.Interface())
+	}
+	return results
+}
+
+// argumentOf lets tests write nil for a slice and constants for numbers.
+func argumentOf(a any, typ reflect.Type) reflect.Value {
+	if a == nil {
+		return reflect.Zero(typ)
+	}
+	return reflect.ValueOf(a).Convert(typ)
+}
+
+// copyOf returns a deep copy in which each slice has this unused capacity, filled with values that are not zero.
+// Without unused capacity, nil slices become empty ones, so that both are tried.
+func copyOf(v reflect.Value, spare int) reflect.Value {
+	if v.Kind() != reflect.Slice {
+		return v
+	}
+	if spare == 0 && v.Len() == 0 {
+		return reflect.MakeSlice(v.Type(), 0, 0)
+	}
+	out := reflect.MakeSlice(v.Type(), v.Len()+spare, v.Len()+spare)
+	for i := range v.Len() {
+		out.Index(i).Set(copyOf(v.Index(i), spare))
+	}
+	for i := v.Len(); i < out.Len(); i++ {
+		fill(out.Index(i))
+	}
+	return out.Slice(0, v.Len())
+}
+
+func fill(v reflect.Value) {
+	switch v.Kind() {
+	case reflect.Int64:
+		v.SetInt(-77)
+	case reflect.String:
+		v.SetString("unused")
+	case reflect.Slice:
+		v.Set(reflect.MakeSlice(v.Type(), 2, 2))
+		fill(v.Index(0))
+		fill(v.Index(1))
+	}
+}
+
+// withCapacity returns a deep copy in which the unused capacity of each slice is part of it.
+func withCapacity(v reflect.Value) reflect.Value {
+	if v.Kind() != reflect.Slice {
+		return v
+	}
+	out := reflect.MakeSlice(v.Type(), v.Cap(), v.Cap())
+	for i := range v.Cap() {
+		out.Index(i).Set(withCapacity(v.Slice(0, v.Cap()).Index(i)))
+	}
+	return out
+}
+
+type region struct {
+	from, to uintptr
+	result   bool
+}
+
+func regionsOf(v reflect.Value, result bool) []region {
+	if v.Kind() != reflect.Slice || v.Cap() == 0 {
+		return nil
+	}
+	size := uintptr(v.Cap()) * v.Type().Elem().Size()
+	list := []region{{v.Pointer(), v.Pointer() + size, result}}
+	// The inner slices of unused capacity count for arguments, whose unused capacity is the caller's.
+	inner := v.Len()
+	if !result {
+		inner = v.Cap()
+	}
+	for i := range inner {
+		list = append(list, regionsOf(v.Slice(0, v.Cap()).Index(i), result)...)
+	}
+	return list
+}
+
+func sharesMemory(args, results []reflect.Value) bool {
+	var all []region
+	for _, v := range args {
+		all = append(all, regionsOf(v, false)...)
+	}
+	for _, v := range results {
+		all = append(all, regionsOf(v, true)...)
+	}
+	slices.SortFunc(all, func(a, b region) int { return cmp.Compare(a.from, b.from) })
+	// The greatest ends so far, of all regions and of those of results.
+	var end, resultEnd uintptr
+	for _, a := range all {
+		if a.from < resultEnd || a.result && a.from < end {
+			return true
+		}
+		end = max(end, a.to)
+		if a.result {
+			resultEnd = max(resultEnd, a.to)
+		}
+	}
+	return false
+}
+
+// same compares deeply, where nil and empty slices are equal.
+func same(a, b any) bool {
+	return reflect.DeepEqual(emptyForNil(a), emptyForNil(b))
+}
+
+func emptyForNil(a any) any {
+	return copyOf(reflect.ValueOf(a), 0).Interface()
+}
+
+// isZero reports whether a result is the zero value; an empty slice is.
+func isZero(a any) bool {
+	v := reflect.ValueOf(a)
+	return v.Kind() == reflect.Slice && v.Len() == 0 || v.IsZero()
+}
+
+func nameOf(f any) string {
+	name := runtime.FuncForPC(reflect.ValueOf(f).Pointer()).Name()
+	return name[strings.LastIndex(name, ".")+1:]
+}
+
+func argumentText(args []any) string {
+	text := fmt.Sprintf("%#v", args)
+	if len(text) > 300 {
+		text = text[:300] + ".."
+	}
+	return "(" + strings.TrimPrefix(text, "[]interface {}") + ")"
+}
+
+// repeated returns a list of n numbers.
+func repeated(n int, value int64) []int64 {
+	list := make([]int64, n)
+	for i := range list {
+		list[i] = value
+	}
+	return list
+}
+
+// counted returns the numbers from 0 to n - 1.
+func counted(n int) []int64 {
+	list := make([]int64, n)
+	for i := range list {
+		list[i] = int64(i)
+	}
+	return list
+}
