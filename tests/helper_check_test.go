@@ -3,6 +3,8 @@ package tests
 import (
 	"reflect"
 	"testing"
+
+	"loop.example/g01075/impl"
 )
 
 // The checks of promise 1 are only worth something if they see what they look for.
@@ -10,6 +12,8 @@ import (
 func TestHelperSeesSharedMemory(t *testing.T) {
 	list := []int64{1, 2, 3, 4}
 	nested := [][]int64{list}
+	terms := []impl.Term{{Kind: 1}, {Kind: 1}}
+	holder := struct{ Lists [][]int64 }{nested}
 	cases := []struct {
 		what          string
 		args, results []any
@@ -22,6 +26,10 @@ func TestHelperSeesSharedMemory(t *testing.T) {
 		{"an inner slice of a result", []any{list}, []any{nested}, true},
 		{"inner slices of one result", nil, []any{[][]int64{list[:2:2], list[1:]}}, true},
 		{"two results", nil, []any{list, list}, true},
+		{"terms", []any{terms}, []any{terms[1:]}, true},
+		{"unused capacity of terms", []any{terms[:1]}, []any{terms[1:]}, true},
+		{"operands in one memory", nil, []any{[][]impl.Term{terms[:1], terms[1:]}}, true},
+		{"a field of a struct", []any{list}, []any{holder}, true},
 		{"two arguments", []any{list, list}, []any{[]int64{1}}, false},
 		{"neighbours", nil, []any{[][]int64{list[:2:2], list[2:]}}, false},
 		{"strings and numbers", []any{"a", int64(1)}, []any{"a", int64(1)}, false},
@@ -53,6 +61,21 @@ func TestHelperSeesChanges(t *testing.T) {
 		change(given.Interface().([][]int64))
 		if reflect.DeepEqual(before, withCapacity(given).Interface()) {
 			t.Error("a change of an argument is not seen")
+		}
+	}
+}
+
+func TestHelperSeesChangesOfTerms(t *testing.T) {
+	for _, change := range []func([]impl.Term){
+		func(e []impl.Term) { e[0].Kind++ },
+		func(e []impl.Term) { e[1].Value++ },
+		func(e []impl.Term) { _ = append(e, impl.Term{}) },
+	} {
+		given := copyOf(reflect.ValueOf(op(impl.OpAdd, num(1), num(2))), spareRoom)
+		before := withCapacity(given).Interface()
+		change(given.Interface().([]impl.Term))
+		if reflect.DeepEqual(before, withCapacity(given).Interface()) {
+			t.Error("a change of terms is not seen")
 		}
 	}
 }

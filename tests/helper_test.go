@@ -88,6 +88,9 @@ func argumentOf(a any, typ reflect.Type) reflect.Value {
 // copyOf returns a deep copy in which each slice has this unused capacity, filled with values that are not zero.
 // Without unused capacity, nil slices become empty ones, so that both are tried.
 func copyOf(v reflect.Value, spare int) reflect.Value {
+	if v.Kind() == reflect.Struct {
+		return withFields(v, func(field reflect.Value) reflect.Value { return copyOf(field, spare) })
+	}
 	if v.Kind() != reflect.Slice {
 		return v
 	}
@@ -104,8 +107,21 @@ func copyOf(v reflect.Value, spare int) reflect.Value {
 	return out.Slice(0, v.Len())
 }
 
+// withFields returns a struct whose fields are made from those of v.
+func withFields(v reflect.Value, field func(reflect.Value) reflect.Value) reflect.Value {
+	out := reflect.New(v.Type()).Elem()
+	for i := range v.NumField() {
+		out.Field(i).Set(field(v.Field(i)))
+	}
+	return out
+}
+
 func fill(v reflect.Value) {
 	switch v.Kind() {
+	case reflect.Struct:
+		for i := range v.NumField() {
+			fill(v.Field(i))
+		}
 	case reflect.Int64:
 		v.SetInt(-77)
 	case reflect.String:
@@ -119,6 +135,9 @@ func fill(v reflect.Value) {
 
 // withCapacity returns a deep copy in which the unused capacity of each slice is part of it.
 func withCapacity(v reflect.Value) reflect.Value {
+	if v.Kind() == reflect.Struct {
+		return withFields(v, withCapacity)
+	}
 	if v.Kind() != reflect.Slice {
 		return v
 	}
@@ -135,6 +154,13 @@ type region struct {
 }
 
 func regionsOf(v reflect.Value, result bool) []region {
+	if v.Kind() == reflect.Struct {
+		var list []region
+		for i := range v.NumField() {
+			list = append(list, regionsOf(v.Field(i), result)...)
+		}
+		return list
+	}
 	if v.Kind() != reflect.Slice || v.Cap() == 0 {
 		return nil
 	}

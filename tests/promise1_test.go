@@ -3,8 +3,12 @@ package tests
 import (
 	"math"
 	"reflect"
+	"runtime"
+	"slices"
 	"strings"
+	"sync"
 	"testing"
+	"time"
 
 	"loop.example/g01075/impl"
 )
@@ -20,6 +24,16 @@ func functionsOfStage1() []any {
 	}
 }
 
+// functionsOfStage2 returns all functions of chapters 3 and 4.
+func functionsOfStage2() []any {
+	return []any{
+		impl.ValidTerms, impl.Operate, impl.Evaluate, impl.VariablesOf, impl.OperandsOf, impl.Substitute, impl.ShiftVariables,
+		impl.FoldTerms, impl.ConstantOf, impl.Conjunction, impl.SolutionsOf,
+		impl.LevelOf, impl.OperatorText, impl.ReadOperator, impl.TokensOf, impl.ExpressionText, impl.ParseExpression,
+		impl.CanonicalTerms, impl.DifferingValues, impl.PostfixOf, impl.FromPostfix,
+	}
+}
+
 // argumentsOf returns arguments of one type, most of them invalid somewhere.
 func argumentsOf(typ reflect.Type) []any {
 	switch typ {
@@ -28,12 +42,19 @@ func argumentsOf(typ reflect.Type) []any {
 			int64(64), int64(65535), int64(65536), int64(math.MaxInt64)}
 	case reflect.TypeFor[string]():
 		return []any{"", " ", "-", "|", ",", "(", "tau", "a", "a(1)", "a(01)", "send(1,0)", "tau(0)", "0", "-0", "1,2", "0 2|1", "1|0",
+			"+", "<=", "v0", "v0+)", "(v0", "v0 64", "!(v0=1)&v1-(2-v2)<3", strings.Repeat("!", 60) + "0", strings.Repeat("(", 400),
 			"\x00", "\xff", "\xff(\xff)", "é(1)", " a  b ", strings.Repeat("a", 3000), strings.Repeat("0|", 3000), strings.Repeat(",", 3000),
 			strings.Repeat("9", 3000), "\ud7ff\ue000"}
 	case reflect.TypeFor[[]int64]():
 		return []any{[]int64(nil), []int64{0}, []int64{1}, []int64{-1}, []int64{0, 0}, []int64{0, 1, 0}, []int64{0, 1, 1}, []int64{0, 2},
 			[]int64{7, 3, 7, 5}, []int64{math.MinInt64, math.MaxInt64}, counted(40), repeated(40, 0), counted(41), repeated(64, 3), repeated(65, 3),
 			repeated(1000, 0)}
+	case reflect.TypeFor[[]impl.Term]():
+		return termArguments()
+	case reflect.TypeFor[[][]impl.Term]():
+		return []any{[][]impl.Term(nil), [][]impl.Term{nil}, [][]impl.Term{num(1)}, [][]impl.Term{vr(0), vr(1)}, [][]impl.Term{vr(0), nil},
+			[][]impl.Term{vr(0), num(64)}, slices.Repeat([][]impl.Term{num(1)}, 30), slices.Repeat([][]impl.Term{num(1)}, 31),
+			[][]impl.Term{nots(59, num(1))}, [][]impl.Term{nots(59, num(1)), num(1)}, slices.Repeat([][]impl.Term{num(1)}, 5000)}
 	}
 	return []any{[][]int64(nil), [][]int64{nil}, [][]int64{{}, {0}}, [][]int64{{0}}, [][]int64{{0, 0}}, [][]int64{{0, 1}, {1, 0}},
 		[][]int64{{1, 0}, {0, 1}}, [][]int64{{0, 1}, {0, 1}}, [][]int64{{0, 1}, {1, 2}}, [][]int64{{0, 1, 2}}, [][]int64{{1}, {2, 0}},
@@ -41,8 +62,17 @@ func argumentsOf(typ reflect.Type) []any {
 		[][]int64{counted(41)}, [][]int64{repeated(1000, 0)}, allPairs(12), make([][]int64, 100)}
 }
 
+func termArguments() []any {
+	sum := op(impl.OpAdd, vr(0), vr(1))
+	return []any{[]impl.Term(nil), num(0), num(1), num(63), num(64), num(-1), vr(0), vr(1), vr(28), vr(29), vr(-1), sum, not(sum), sum[1:], sum[:2],
+		op(impl.OpLess, vr(0), vr(1)), op(impl.OpMul, op(impl.OpAdd, num(2), num(3)), vr(0)), op(9, vr(0), vr(1)), op(-1, vr(0), vr(1)),
+		append(sum[:3:3], num(0)...), []impl.Term{{Kind: 3, Value: 1}, {}}, []impl.Term{{Kind: 4}}, []impl.Term{{Kind: -1}},
+		[]impl.Term{{Kind: math.MaxInt64, Value: math.MinInt64}}, []impl.Term{{Kind: 1}, {Kind: 1, Value: 1}, {Kind: 2}},
+		nots(59, vr(0)), nots(60, vr(0)), slices.Repeat(num(0), 1000), slices.Repeat([]impl.Term{{Kind: 2}}, 1000)}
+}
+
 func TestPromise1AllArguments(t *testing.T) {
-	for _, f := range functionsOfStage1() {
+	for _, f := range slices.Concat(functionsOfStage1(), functionsOfStage2()) {
 		typ := reflect.TypeOf(f)
 		lists := [][]any{nil}
 		for i := range typ.NumIn() {
@@ -68,6 +98,10 @@ func checkZeroValues(t *testing.T, f any, args, results []any) {
 		return
 	}
 	for _, r := range results[:last] {
+		// The offset of the first error is a number beside ErrSyntax.
+		if _, isNumber := r.(int64); isNumber && results[last] == int64(impl.ErrSyntax) {
+			continue
+		}
 		if !isZero(r) {
 			t.Errorf("%s%s: %#v is not a zero value", nameOf(f), argumentText(args), results)
 		}
@@ -101,4 +135,64 @@ func TestPromise1ResultsAreTheCallers(t *testing.T) {
 		blocks[0][0], closed[0][0] = 9, 9
 		blocks[1], closed[1] = nil, nil
 	}
+}
+
+func TestPromise1TermsAreTheCallers(t *testing.T) {
+	sum := op(impl.OpAdd, vr(0), num(1))
+	for range 2 {
+		operands, _ := impl.OperandsOf(sum)
+		always, _ := impl.Conjunction(nil)
+		solutions, _ := impl.SolutionsOf(num(1), []int64{1})
+		tokens, offsets, _ := impl.TokensOf("v0<=1")
+		got := []any{operands, always, solutions, tokens, offsets}
+		want := []any{[][]impl.Term{vr(0), num(1)}, num(1), [][]int64{{0}, {1}}, []string{"v0", "<=", "1"}, []int64{0, 2, 4}}
+		for i := range want {
+			if !same(got[i], want[i]) {
+				t.Error(got[i], want[i])
+			}
+		}
+		operands[0][0], always[0], solutions[0][0], tokens[0], offsets[0] = impl.Term{}, impl.Term{}, 9, "", 9
+		operands[1], solutions[1] = nil, nil
+	}
+}
+
+// TestPromise1AtTheSameTime makes calls from several goroutines, which can only agree if nothing is kept between calls.
+func TestPromise1AtTheSameTime(t *testing.T) {
+	texts := []string{"!(v0=1)&v1-(2-v2)<3", "v0-v1-v2", "v0+)", "(v0", "", "1+64", strings.Repeat("!", 61) + "v5", "v0 v1 v2 v3"}
+	var all sync.WaitGroup
+	for k := range 8 {
+		all.Go(func() {
+			for i := range 200 {
+				s := texts[(i+k)%len(texts)]
+				e, at, code := impl.ParseExpression(s)
+				again, atAgain, codeAgain := impl.ParseExpression(s)
+				if !same(e, again) || at != atAgain || code != codeAgain {
+					t.Error(s, e, at, code, again, atAgain, codeAgain)
+				}
+				if code == impl.OK && impl.ExpressionText(e) != s {
+					t.Error(s, impl.ExpressionText(e))
+				}
+			}
+		})
+	}
+	all.Wait()
+}
+
+// TestPromise1NoGoroutineIsLeft looks for goroutines that still wait when texts end in an error.
+func TestPromise1NoGoroutineIsLeft(t *testing.T) {
+	before := runtime.NumGoroutine()
+	for _, s := range []string{"v0+)+1+2+3", "64 1 2 3", "(v0", ")))", "v0 v1 v2", strings.Repeat("0+", 60) + "0", strings.Repeat(")", 400), "", "v0"} {
+		for range 20 {
+			impl.ParseExpression(s)
+			impl.TokensOf(s)
+		}
+	}
+	// A goroutine may need a moment to end behind its last action.
+	for range 5000 {
+		if runtime.NumGoroutine() <= before {
+			return
+		}
+		time.Sleep(time.Millisecond)
+	}
+	t.Errorf("%d goroutines before and %d behind the calls", before, runtime.NumGoroutine())
 }
