@@ -80,6 +80,95 @@ func TestHelperSeesChangesOfTerms(t *testing.T) {
 	}
 }
 
+// systemParts returns functions that give each slice of a system: of its definitions, their bodies, and so on.
+func systemParts() map[string]func(s impl.System) any {
+	return map[string]func(s impl.System) any{
+		"definitions": func(s impl.System) any { return s.Definitions },
+		"a body":      func(s impl.System) any { return s.Definitions[3].Body },
+		"arguments":   func(s impl.System) any { return s.Definitions[3].Body[6].Arguments },
+		"terms":       func(s impl.System) any { return s.Definitions[3].Body[6].Arguments[1] },
+		"components":  func(s impl.System) any { return s.Components },
+		"values":      func(s impl.System) any { return s.Components[2].Values },
+		"meetings":    func(s impl.System) any { return s.Meetings },
+		"allowed":     func(s impl.System) any { return s.Allowed },
+		"hidden":      func(s impl.System) any { return s.Hidden },
+	}
+}
+
+func TestHelperSeesSharedMemoryOfSystems(t *testing.T) {
+	s := copied(example())
+	other := copied(example())
+	for what, part := range systemParts() {
+		if !sharesMemory(valuesOf([]any{s}), valuesOf([]any{part(s)})) || !sharesMemory(valuesOf([]any{part(s)}), valuesOf([]any{s})) {
+			t.Error("shared with an argument:", what)
+		}
+		if !sharesMemory(nil, valuesOf([]any{s, part(s)})) {
+			t.Error("shared with another result:", what)
+		}
+		if sharesMemory(valuesOf([]any{s}), valuesOf([]any{part(other)})) {
+			t.Error("not shared:", what)
+		}
+	}
+	if sharesMemory(valuesOf([]any{s}), valuesOf([]any{other})) {
+		t.Error("not shared")
+	}
+	other.Components[0].Values = other.Components[2].Values
+	if !sharesMemory(nil, valuesOf([]any{other})) {
+		t.Error("values of two components of one result")
+	}
+	other = copied(example())
+	other.Definitions[1].Body = other.Definitions[2].Body
+	if !sharesMemory(nil, valuesOf([]any{other})) {
+		t.Error("bodies of one result")
+	}
+}
+
+func TestHelperSeesChangesOfSystems(t *testing.T) {
+	for i, change := range []changeOfSystem{
+		func(s *impl.System) { s.Definitions[1].Name = "other" },
+		func(s *impl.System) { s.Definitions[1].Body[2].Number = 2 },
+		func(s *impl.System) { s.Definitions[3].Body[6].Arguments[0] = nil },
+		func(s *impl.System) { s.Definitions[3].Body[6].Arguments[1][0].Value = 5 },
+		func(s *impl.System) { _ = append(s.Definitions[3].Body[6].Arguments[1], impl.Term{}) },
+		func(s *impl.System) { _ = append(s.Definitions[3].Body[6].Arguments, nil) },
+		func(s *impl.System) { _ = append(s.Definitions[0].Body, impl.Part{}) },
+		func(s *impl.System) { _ = append(s.Definitions, impl.Definition{}) },
+		func(s *impl.System) { s.Components[2].Values[0] = 6 },
+		func(s *impl.System) { _ = append(s.Components[0].Values, 6) },
+		func(s *impl.System) { s.Components[0].Definition = 2 },
+		func(s *impl.System) { _ = append(s.Components, impl.Component{}) },
+		func(s *impl.System) { s.Meetings[0].Result = "x" },
+		func(s *impl.System) { _ = append(s.Meetings, impl.Meeting{}) },
+		func(s *impl.System) { s.Allowed[0] = "x" },
+		func(s *impl.System) { _ = append(s.Allowed, "x") },
+		func(s *impl.System) { _ = append(s.Hidden, "x") },
+	} {
+		given := copyOf(reflect.ValueOf(example()), spareRoom)
+		before := withCapacity(given).Interface()
+		s := given.Interface().(impl.System)
+		change(&s)
+		if reflect.DeepEqual(before, withCapacity(given).Interface()) {
+			t.Error("a change of a system is not seen:", i)
+		}
+	}
+}
+
+// TestHelperTriesNilAndEmptySlices looks at the copies that the functions are called with.
+func TestHelperTriesNilAndEmptySlices(t *testing.T) {
+	nested := reflect.ValueOf([][]int64{nil, {}})
+	none := copyOf(nested, noSlice).Interface().([][]int64)
+	empty := copyOf(nested, 0).Interface().([][]int64)
+	roomy := copyOf(nested, spareRoom).Interface().([][]int64)
+	for i := range 2 {
+		if none[i] != nil || empty[i] == nil || cap(empty[i]) != 0 || len(roomy[i]) != 0 || cap(roomy[i]) != spareRoom {
+			t.Error(none, empty, roomy)
+		}
+	}
+	if cap(roomy) != 2+spareRoom || roomy[:3][2] == nil {
+		t.Error(roomy)
+	}
+}
+
 func TestHelperComparesEmptyLists(t *testing.T) {
 	if !same([]int64(nil), []int64{}) || !same([][]int64{nil}, [][]int64{{}}) || same([]int64{0}, []int64{}) || same(int64(0), false) {
 		t.Error("same")

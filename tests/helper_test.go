@@ -10,8 +10,11 @@ import (
 	"testing"
 )
 
-// spareRoom is how many elements of unused capacity the copies of a slice get.
-const spareRoom = 3
+// spareRoom is how many elements of unused capacity the copies of a slice get; noSlice is that nil stands for empty ones.
+const (
+	spareRoom = 3
+	noSlice   = -1
+)
 
 func in(args ...any) []any { return args }
 
@@ -39,10 +42,12 @@ func expect(t *testing.T, f any, args []any, want ...any) {
 func call(t *testing.T, f any, args ...any) []any {
 	t.Helper()
 	first := callOnce(t, f, args, spareRoom)
-	second := callOnce(t, f, args, 0)
-	for i := range first {
-		if !same(first[i], second[i]) {
-			t.Errorf("%s%s, result %d: %#v at first and then %#v", nameOf(f), argumentText(args), i, first[i], second[i])
+	for _, spare := range []int{0, noSlice} {
+		again := callOnce(t, f, args, spare)
+		for i := range first {
+			if !same(first[i], again[i]) {
+				t.Errorf("%s%s, result %d: %#v at first and then %#v", nameOf(f), argumentText(args), i, first[i], again[i])
+			}
 		}
 	}
 	return first
@@ -60,11 +65,11 @@ func callOnce(t *testing.T, f any, args []any, spare int) (results []any) {
 	before := make([]any, len(args))
 	for i, a := range args {
 		given[i] = copyOf(argumentOf(a, fun.Type().In(i)), spare)
-		before[i] = copyOf(withCapacity(given[i]), 0).Interface()
+		before[i] = withCapacity(given[i]).Interface()
 	}
 	outs := fun.Call(given)
 	for i := range given {
-		if !reflect.DeepEqual(before[i], copyOf(withCapacity(given[i]), 0).Interface()) {
+		if !reflect.DeepEqual(before[i], withCapacity(given[i]).Interface()) {
 			t.Errorf("%s%s changes argument %d", nameOf(f), argumentText(args), i)
 		}
 	}
@@ -85,26 +90,49 @@ func argumentOf(a any, typ reflect.Type) reflect.Value {
 	return reflect.ValueOf(a).Convert(typ)
 }
 
-// copyOf returns a deep copy in which each slice has this unused capacity, filled with values that are not zero.
-// Without unused capacity, nil slices become empty ones, so that both are tried.
+// copyOf returns a deep copy in which each slice has this unused capacity, filled with values that are not zero. Empty
+// slices are nil in it for noSlice, and otherwise not, so that both are tried.
 func copyOf(v reflect.Value, spare int) reflect.Value {
+	if isFlat(v.Type()) {
+		return v
+	}
 	if v.Kind() == reflect.Struct {
 		return withFields(v, func(field reflect.Value) reflect.Value { return copyOf(field, spare) })
 	}
-	if v.Kind() != reflect.Slice {
-		return v
+	if spare == noSlice && v.Len() == 0 {
+		return reflect.Zero(v.Type())
 	}
-	if spare == 0 && v.Len() == 0 {
-		return reflect.MakeSlice(v.Type(), 0, 0)
-	}
-	out := reflect.MakeSlice(v.Type(), v.Len()+spare, v.Len()+spare)
-	for i := range v.Len() {
-		out.Index(i).Set(copyOf(v.Index(i), spare))
-	}
-	for i := v.Len(); i < out.Len(); i++ {
+	size := v.Len() + max(spare, 0)
+	out := reflect.MakeSlice(v.Type(), size, size)
+	copyEach(out, v, func(element reflect.Value) reflect.Value { return copyOf(element, spare) })
+	for i := v.Len(); i < size; i++ {
 		fill(out.Index(i))
 	}
 	return out.Slice(0, v.Len())
+}
+
+// isFlat reports whether values of a type hold no slices. Most slices that are copied hold numbers or terms.
+func isFlat(typ reflect.Type) bool {
+	if typ.Kind() != reflect.Struct {
+		return typ.Kind() != reflect.Slice
+	}
+	for i := range typ.NumField() {
+		if !isFlat(typ.Field(i).Type) {
+			return false
+		}
+	}
+	return true
+}
+
+// copyEach puts copies of the elements of one slice into another one.
+func copyEach(out, v reflect.Value, element func(reflect.Value) reflect.Value) {
+	if isFlat(v.Type().Elem()) {
+		reflect.Copy(out, v)
+		return
+	}
+	for i := range v.Len() {
+		out.Index(i).Set(element(v.Index(i)))
+	}
 }
 
 // withFields returns a struct whose fields are made from those of v.
@@ -133,18 +161,16 @@ func fill(v reflect.Value) {
 	}
 }
 
-// withCapacity returns a deep copy in which the unused capacity of each slice is part of it.
+// withCapacity returns a deep copy in which the unused capacity of each slice is part of it, and no slice is nil.
 func withCapacity(v reflect.Value) reflect.Value {
+	if isFlat(v.Type()) {
+		return v
+	}
 	if v.Kind() == reflect.Struct {
 		return withFields(v, withCapacity)
 	}
-	if v.Kind() != reflect.Slice {
-		return v
-	}
 	out := reflect.MakeSlice(v.Type(), v.Cap(), v.Cap())
-	for i := range v.Cap() {
-		out.Index(i).Set(withCapacity(v.Slice(0, v.Cap()).Index(i)))
-	}
+	copyEach(out, v.Slice(0, v.Cap()), withCapacity)
 	return out
 }
 
@@ -164,6 +190,7 @@ func regionsOf(v reflect.Value, result bool) []region {
 	if v.Kind() != reflect.Slice || v.Cap() == 0 {
 		return nil
 	}
+	whole := v.Slice(0, v.Cap())
 	size := uintptr(v.Cap()) * v.Type().Elem().Size()
 	list := []region{{v.Pointer(), v.Pointer() + size, result}}
 	// The inner slices of unused capacity count for arguments, whose unused capacity is the caller's.
@@ -171,19 +198,25 @@ func regionsOf(v reflect.Value, result bool) []region {
 	if !result {
 		inner = v.Cap()
 	}
+	if isFlat(v.Type().Elem()) {
+		inner = 0
+	}
 	for i := range inner {
-		list = append(list, regionsOf(v.Slice(0, v.Cap()).Index(i), result)...)
+		list = append(list, regionsOf(whole.Index(i), result)...)
 	}
 	return list
 }
 
 func sharesMemory(args, results []reflect.Value) bool {
 	var all []region
-	for _, v := range args {
-		all = append(all, regionsOf(v, false)...)
-	}
 	for _, v := range results {
 		all = append(all, regionsOf(v, true)...)
+	}
+	if len(all) == 0 {
+		return false
+	}
+	for _, v := range args {
+		all = append(all, regionsOf(v, false)...)
 	}
 	slices.SortFunc(all, func(a, b region) int { return cmp.Compare(a.from, b.from) })
 	// The greatest ends so far, of all regions and of those of results.

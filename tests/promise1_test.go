@@ -34,6 +34,14 @@ func functionsOfStage2() []any {
 	}
 }
 
+// functionsOfStage3 returns all functions of chapter 5.
+func functionsOfStage3() []any {
+	return []any{
+		impl.BodyFault, impl.ValidDefinitions, impl.SystemFault, impl.ValidSystem, impl.SameSystem, impl.PartEnd, impl.ScopeAt,
+		impl.CallsOf, impl.ActionNames, impl.UsedDefinitions, impl.PruneSystem, impl.MeetingOf,
+	}
+}
+
 // argumentsOf returns arguments of one type, most of them invalid somewhere.
 func argumentsOf(typ reflect.Type) []any {
 	switch typ {
@@ -51,6 +59,10 @@ func argumentsOf(typ reflect.Type) []any {
 			repeated(1000, 0)}
 	case reflect.TypeFor[[]impl.Term]():
 		return termArguments()
+	case reflect.TypeFor[[]impl.Definition]():
+		return definitionArguments()
+	case reflect.TypeFor[impl.System]():
+		return systemArguments()
 	case reflect.TypeFor[[][]impl.Term]():
 		return []any{[][]impl.Term(nil), [][]impl.Term{nil}, [][]impl.Term{num(1)}, [][]impl.Term{vr(0), vr(1)}, [][]impl.Term{vr(0), nil},
 			[][]impl.Term{vr(0), num(64)}, slices.Repeat([][]impl.Term{num(1)}, 30), slices.Repeat([][]impl.Term{num(1)}, 31),
@@ -71,22 +83,57 @@ func termArguments() []any {
 		nots(59, vr(0)), nots(60, vr(0)), slices.Repeat(num(0), 1000), slices.Repeat([]impl.Term{{Kind: 2}}, 1000)}
 }
 
+func definitionArguments() []any {
+	stop := stopPart()
+	list := []any{
+		[]impl.Definition(nil), make([]impl.Definition, 1), make([]impl.Definition, 4), make([]impl.Definition, 5), example().Definitions,
+		defs(3, stop), defs(4, stop), defs(math.MinInt64, stop), defs(0), defs(0, stop, stop), defs(0, again(1000, stop)...), defs(0, again(20, guardPart(num(1)))...),
+		defs(0, impl.Part{Kind: math.MaxInt64, Number: math.MinInt64, Name: "\xff"}), defs(0, actPart("\xff", nil), stop), defs(0, sumPart(8), stop),
+		defs(0, actPart("a"), callPart(math.MaxInt64)), defs(0, callPart(0)), defs(3, again(4, sumPart(1), stop)...), defs(0, guardPart(vr(math.MinInt64)), stop),
+		append(defs(0, stop), def("p", 0, stop)), append(defs(0, actPart("a"), callPart(1, vr(0))), def("q", 1, actPart("b", vr(0)), callPart(0))),
+	}
+	for _, s := range randomSystems(3) {
+		list = append(list, s.Definitions)
+	}
+	return list
+}
+
+func systemArguments() []any {
+	calls := [4][]int64{{1}, {0}, {3, 2}, {0}}
+	list := []any{impl.System{}, example(), chain(calls, 1), chain(calls, 2, 0), chain(calls, 4), chain(calls)}
+	for _, change := range []changeOfSystem{
+		func(s *impl.System) { s.Meetings = meetings("a a b") },
+		func(s *impl.System) { s.Meetings = meetings("tau a b") },
+		func(s *impl.System) { s.Allowed = []string{"b", "a"} },
+		func(s *impl.System) { s.Hidden = make([]string, 1000) },
+		func(s *impl.System) { s.Components[2].Values = []int64{math.MinInt64} },
+	} {
+		s := example()
+		change(&s)
+		list = append(list, s)
+	}
+	return append(list, randomSystems(1)[0])
+}
+
 func TestPromise1AllArguments(t *testing.T) {
-	for _, f := range slices.Concat(functionsOfStage1(), functionsOfStage2()) {
-		typ := reflect.TypeOf(f)
-		lists := [][]any{nil}
-		for i := range typ.NumIn() {
-			var longer [][]any
-			for _, list := range lists {
-				for _, a := range argumentsOf(typ.In(i)) {
-					longer = append(longer, append(list[:len(list):len(list)], a))
+	for _, f := range slices.Concat(functionsOfStage1(), functionsOfStage2(), functionsOfStage3()) {
+		t.Run(nameOf(f), func(t *testing.T) {
+			t.Parallel()
+			typ := reflect.TypeOf(f)
+			lists := [][]any{nil}
+			for i := range typ.NumIn() {
+				var longer [][]any
+				for _, list := range lists {
+					for _, a := range argumentsOf(typ.In(i)) {
+						longer = append(longer, append(list[:len(list):len(list)], a))
+					}
 				}
+				lists = longer
 			}
-			lists = longer
-		}
-		for _, args := range lists {
-			checkZeroValues(t, f, args, call(t, f, args...))
-		}
+			for _, args := range lists {
+				checkZeroValues(t, f, args, call(t, f, args...))
+			}
+		})
 	}
 }
 
