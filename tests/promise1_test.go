@@ -42,6 +42,14 @@ func functionsOfStage3() []any {
 	}
 }
 
+// functionsOfStage4 returns all functions of chapter 6.
+func functionsOfStage4() []any {
+	return []any{
+		impl.DefinitionText, impl.SystemLines, impl.SystemText, impl.ParseSystem, impl.IsSource, impl.CanonicalSource,
+		impl.RenameDefinition, impl.RenameAction, impl.AddComponent, impl.RemoveComponent,
+	}
+}
+
 // argumentsOf returns arguments of one type, most of them invalid somewhere.
 func argumentsOf(typ reflect.Type) []any {
 	switch typ {
@@ -52,7 +60,8 @@ func argumentsOf(typ reflect.Type) []any {
 		return []any{"", " ", "-", "|", ",", "(", "tau", "a", "a(1)", "a(01)", "send(1,0)", "tau(0)", "0", "-0", "1,2", "0 2|1", "1|0",
 			"+", "<=", "v0", "v0+)", "(v0", "v0 64", "!(v0=1)&v1-(2-v2)<3", strings.Repeat("!", 60) + "0", strings.Repeat("(", 400),
 			"\x00", "\xff", "\xff(\xff)", "é(1)", " a  b ", strings.Repeat("a", 3000), strings.Repeat("0|", 3000), strings.Repeat(",", 3000),
-			strings.Repeat("9", 3000), "\ud7ff\ue000"}
+			strings.Repeat("9", 3000), "\ud7ff\ue000",
+			"put", "proc p 0 = a.p", "proc p 0 = a.p\nrun p", "proc p 0 = a.q\nrun p", "proc p 0 = a.p(1)\nrun p"}
 	case reflect.TypeFor[[]int64]():
 		return []any{[]int64(nil), []int64{0}, []int64{1}, []int64{-1}, []int64{0, 0}, []int64{0, 1, 0}, []int64{0, 1, 1}, []int64{0, 2},
 			[]int64{7, 3, 7, 5}, []int64{math.MinInt64, math.MaxInt64}, counted(40), repeated(40, 0), counted(41), repeated(64, 3), repeated(65, 3),
@@ -63,6 +72,9 @@ func argumentsOf(typ reflect.Type) []any {
 		return definitionArguments()
 	case reflect.TypeFor[impl.System]():
 		return systemArguments()
+	case reflect.TypeFor[impl.Component]():
+		return []any{impl.Component{}, impl.Component{Definition: 1}, impl.Component{Definition: 3, Values: []int64{7}}, impl.Component{Definition: -1},
+			impl.Component{Definition: math.MaxInt64, Values: []int64{math.MinInt64}}, impl.Component{Values: repeated(1000, 0)}}
 	case reflect.TypeFor[[][]impl.Term]():
 		return []any{[][]impl.Term(nil), [][]impl.Term{nil}, [][]impl.Term{num(1)}, [][]impl.Term{vr(0), vr(1)}, [][]impl.Term{vr(0), nil},
 			[][]impl.Term{vr(0), num(64)}, slices.Repeat([][]impl.Term{num(1)}, 30), slices.Repeat([][]impl.Term{num(1)}, 31),
@@ -116,7 +128,7 @@ func systemArguments() []any {
 }
 
 func TestPromise1AllArguments(t *testing.T) {
-	for _, f := range slices.Concat(functionsOfStage1(), functionsOfStage2(), functionsOfStage3()) {
+	for _, f := range slices.Concat(functionsOfStage1(), functionsOfStage2(), functionsOfStage3(), functionsOfStage4()) {
 		t.Run(nameOf(f), func(t *testing.T) {
 			t.Parallel()
 			typ := reflect.TypeOf(f)
@@ -144,9 +156,10 @@ func checkZeroValues(t *testing.T, f any, args, results []any) {
 	if last == 0 || results[last] == int64(impl.OK) || results[last] == true {
 		return
 	}
+	// The place of the first error is that of an error of syntax or, in a source text, of a name that is not found.
+	hasPlace := results[last] == int64(impl.ErrSyntax) || results[last] == int64(impl.ErrNotFound) && nameOf(f) == "ParseSystem"
 	for _, r := range results[:last] {
-		// The offset of the first error is a number beside ErrSyntax.
-		if _, isNumber := r.(int64); isNumber && results[last] == int64(impl.ErrSyntax) {
+		if _, isNumber := r.(int64); isNumber && hasPlace {
 			continue
 		}
 		if !isZero(r) {
