@@ -112,11 +112,16 @@ func ListText(list []int64) string {
 func outsideMaxValue(n int64) bool { return n < -MaxValue || n > MaxValue }
 
 func joinNumbers(list []int64, separator string) string {
-	words := make([]string, len(list))
-	for i, n := range list {
-		words[i] = Decimal(n)
+	return strings.Join(mapEach(list, Decimal), separator)
+}
+
+// mapEach returns the list of what a function returns for each element of a list.
+func mapEach[T, R any](list []T, result func(T) R) []R {
+	results := make([]R, len(list))
+	for i, x := range list {
+		results[i] = result(x)
 	}
-	return strings.Join(words, separator)
+	return results
 }
 
 // ReadList returns the list with the text s.

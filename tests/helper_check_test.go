@@ -153,6 +153,56 @@ func TestHelperSeesChangesOfSystems(t *testing.T) {
 	}
 }
 
+// someMoves returns two moves of two components, each with a value, that share no memory.
+func someMoves() []impl.Move {
+	return copied([]impl.Move{{State: []impl.Point{pt(0, 0, 1), pt(0, 0, 2)}}, {State: []impl.Point{pt(0, 0, 1), pt(0, 0, 2)}}})
+}
+
+func TestHelperSeesSharedMemoryOfMoves(t *testing.T) {
+	if sharesMemory(valuesOf([]any{someMoves()}), valuesOf([]any{someMoves()})) {
+		t.Error("not shared")
+	}
+	for i, change := range []func(moves []impl.Move){
+		func(moves []impl.Move) { moves[1].State = moves[0].State },
+		func(moves []impl.Move) { moves[1].State[0].Values = moves[0].State[0].Values },
+		func(moves []impl.Move) { moves[1].State[1].Values = moves[1].State[0].Values },
+		func(moves []impl.Move) { moves[1].State[1].Values = moves[0].State[0].Values[:0:1] },
+	} {
+		moves := someMoves()
+		change(moves)
+		if !sharesMemory(nil, valuesOf([]any{moves})) {
+			t.Error("shared inside of a result:", i)
+		}
+	}
+	moves, steps := someMoves(), []impl.Step{{Next: pt(0, 0, 1)}}
+	for i, part := range []any{moves[1].State, moves[1].State[1].Values, moves[0].State[:1], impl.Point{Values: moves[0].State[0].Values}} {
+		if !sharesMemory(valuesOf([]any{part}), valuesOf([]any{moves})) || !sharesMemory(valuesOf([]any{moves}), valuesOf([]any{part})) {
+			t.Error("shared with an argument:", i)
+		}
+	}
+	if !sharesMemory(valuesOf([]any{steps[0].Next}), valuesOf([]any{steps})) || !sharesMemory(nil, valuesOf([]any{steps, steps[0].Next.Values})) {
+		t.Error("shared by a step")
+	}
+}
+
+func TestHelperSeesChangesOfStates(t *testing.T) {
+	for i, change := range []func(state []impl.Point){
+		func(state []impl.Point) { state[0].Part = 1 },
+		func(state []impl.Point) { state[2].Values[0] = 6 },
+		func(state []impl.Point) { _ = append(state[2].Values, 6) },
+		func(state []impl.Point) { _ = append(state[0].Values, 6) },
+		func(state []impl.Point) { _ = append(state, impl.Point{}) },
+		func(state []impl.Point) { state[:4][3].Values[0] = 6 },
+	} {
+		given := copyOf(reflect.ValueOf(startOf(example())), spareRoom)
+		before := withCapacity(given).Interface()
+		change(given.Interface().([]impl.Point))
+		if reflect.DeepEqual(before, withCapacity(given).Interface()) {
+			t.Error("a change of a state is not seen:", i)
+		}
+	}
+}
+
 // TestHelperTriesNilAndEmptySlices looks at the copies that the functions are called with.
 func TestHelperTriesNilAndEmptySlices(t *testing.T) {
 	nested := reflect.ValueOf([][]int64{nil, {}})

@@ -3,12 +3,13 @@ package tests
 import (
 	"fmt"
 	"slices"
+	"strings"
 
 	"loop.example/g01075/impl"
 )
 
 // What the parts of a body mean, and so the moves of systems, is repeated here as the document says it, for valid
-// systems: promise 6 is about moves.
+// systems and without the limits: promises 6 and 8 are about moves.
 
 // stepsOf returns the steps of a component at a part with values for the variables in scope.
 func stepsOf(list []impl.Definition, p impl.Point) []impl.Step {
@@ -123,12 +124,13 @@ func movesOf(s impl.System, state []impl.Point) []impl.Move {
 // meetingsOf returns the moves of two components together.
 func meetingsOf(s impl.System, state []impl.Point, i, k int) []impl.Move {
 	var moves []impl.Move
+	others := stepsOf(s.Definitions, state[k])
 	for _, a := range stepsOf(s.Definitions, state[i]) {
-		for _, b := range stepsOf(s.Definitions, state[k]) {
-			values, _ := impl.LabelValues(a.Label)
-			others, _ := impl.LabelValues(b.Label)
-			name := resultOf(s, impl.LabelName(a.Label), impl.LabelName(b.Label))
-			if slices.Equal(values, others) && slices.Contains(s.Allowed, name) {
+		for _, b := range others {
+			left, list, _ := strings.Cut(a.Label, "(")
+			right, otherList, _ := strings.Cut(b.Label, "(")
+			if name := resultOf(s, left, right); list == otherList && slices.Contains(s.Allowed, name) {
+				values, _ := impl.LabelValues(a.Label)
 				moves = append(moves, moveOf(s, state, name, values, goal{i, a.Next}, goal{k, b.Next}))
 			}
 		}

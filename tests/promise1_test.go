@@ -50,6 +50,14 @@ func functionsOfStage4() []any {
 	}
 }
 
+// functionsOfStage5 returns all functions of chapter 7.
+func functionsOfStage5() []any {
+	return []any{
+		impl.ValidPoint, impl.ValidState, impl.StartState, impl.StepsOf, impl.MovesOf, impl.TakeMoves, impl.IsStuck, impl.MoveLabels,
+		impl.StateText, impl.ReadState,
+	}
+}
+
 // argumentsOf returns arguments of one type, most of them invalid somewhere.
 func argumentsOf(typ reflect.Type) []any {
 	switch typ {
@@ -61,7 +69,7 @@ func argumentsOf(typ reflect.Type) []any {
 			"+", "<=", "v0", "v0+)", "(v0", "v0 64", "!(v0=1)&v1-(2-v2)<3", strings.Repeat("!", 60) + "0", strings.Repeat("(", 400),
 			"\x00", "\xff", "\xff(\xff)", "é(1)", " a  b ", strings.Repeat("a", 3000), strings.Repeat("0|", 3000), strings.Repeat(",", 3000),
 			strings.Repeat("9", 3000), "\ud7ff\ue000",
-			"put", "proc p 0 = a.p", "proc p 0 = a.p\nrun p", "proc p 0 = a.q\nrun p", "proc p 0 = a.p(1)\nrun p"}
+			"put", "p:0:-", "send:0:- hold:0:- add:0:5", "send:0:- hold:0:- add:0:05", "p:0:0 r:0:-9", "proc p 0 = a.p", "proc p 0 = a.p\nrun p", "proc p 0 = a.q\nrun p", "proc p 0 = a.p(1)\nrun p"}
 	case reflect.TypeFor[[]int64]():
 		return []any{[]int64(nil), []int64{0}, []int64{1}, []int64{-1}, []int64{0, 0}, []int64{0, 1, 0}, []int64{0, 1, 1}, []int64{0, 2},
 			[]int64{7, 3, 7, 5}, []int64{math.MinInt64, math.MaxInt64}, counted(40), repeated(40, 0), counted(41), repeated(64, 3), repeated(65, 3),
@@ -75,6 +83,10 @@ func argumentsOf(typ reflect.Type) []any {
 	case reflect.TypeFor[impl.Component]():
 		return []any{impl.Component{}, impl.Component{Definition: 1}, impl.Component{Definition: 3, Values: []int64{7}}, impl.Component{Definition: -1},
 			impl.Component{Definition: math.MaxInt64, Values: []int64{math.MinInt64}}, impl.Component{Values: repeated(1000, 0)}}
+	case reflect.TypeFor[impl.Point]():
+		return pointArguments()
+	case reflect.TypeFor[[]impl.Point]():
+		return stateArguments()
 	case reflect.TypeFor[[][]impl.Term]():
 		return []any{[][]impl.Term(nil), [][]impl.Term{nil}, [][]impl.Term{num(1)}, [][]impl.Term{vr(0), vr(1)}, [][]impl.Term{vr(0), nil},
 			[][]impl.Term{vr(0), num(64)}, slices.Repeat([][]impl.Term{num(1)}, 30), slices.Repeat([][]impl.Term{num(1)}, 31),
@@ -127,8 +139,30 @@ func systemArguments() []any {
 	return append(list, randomSystems(1)[0])
 }
 
+func pointArguments() []any {
+	var list []any
+	for _, p := range []impl.Point{
+		{}, pt(0, 0, 1), pt(1, 0), pt(1, 1), pt(1, 2), pt(2, 1, 3), pt(3, 0, 5), pt(3, 6, 5, 7), pt(3, 5, 5, 7), pt(3, 8, 5, 7), pt(0, 1, 1), pt(0, 0, 1, 2, 3),
+		pt(0, 0, -1), pt(0, 0, 64), pt(0, -1), pt(-1, 0), pt(4, 0), pt(math.MinInt64, math.MaxInt64, math.MinInt64), pt(0, 0, repeated(1000, 0)...),
+	} {
+		list = append(list, p)
+	}
+	return list
+}
+
+func stateArguments() []any {
+	list := []any{startOf(example()), startOf(randomSystems(1)[0]), firstStates(example(), 20)[19], make([]impl.Point, 1000)}
+	for _, state := range notStates()[:9] {
+		list = append(list, state)
+	}
+	for _, p := range pointArguments() {
+		list = append(list, []impl.Point{p.(impl.Point)})
+	}
+	return list
+}
+
 func TestPromise1AllArguments(t *testing.T) {
-	for _, f := range slices.Concat(functionsOfStage1(), functionsOfStage2(), functionsOfStage3(), functionsOfStage4()) {
+	for _, f := range slices.Concat(functionsOfStage1(), functionsOfStage2(), functionsOfStage3(), functionsOfStage4(), functionsOfStage5()) {
 		t.Run(nameOf(f), func(t *testing.T) {
 			t.Parallel()
 			typ := reflect.TypeOf(f)
@@ -213,6 +247,50 @@ func TestPromise1TermsAreTheCallers(t *testing.T) {
 		}
 		operands[0][0], always[0], solutions[0][0], tokens[0], offsets[0] = impl.Term{}, impl.Term{}, 9, "", 9
 		operands[1], solutions[1] = nil, nil
+	}
+}
+
+// TestPromise1StatesAreTheCallers changes results, which must change neither the arguments nor what later calls return.
+func TestPromise1StatesAreTheCallers(t *testing.T) {
+	s, state := copied(example()), copied(startOf(example()))
+	var first []any
+	for range 2 {
+		start, _ := impl.StartState(s)
+		steps, _ := impl.StepsOf(s.Definitions, state[2])
+		moves, _ := impl.MovesOf(s, state)
+		none, _, _ := impl.TakeMoves(s, state, nil)
+		one, labels, _ := impl.TakeMoves(s, state, []int64{8})
+		names, _ := impl.MoveLabels(s, state)
+		read, _ := impl.ReadState(s, "send:0:- hold:0:- add:0:5")
+		got := []any{start, steps, moves, none, one, labels, names, read}
+		for i, result := range got {
+			if len(first) <= i {
+				first = append(first, emptyForNil(result))
+			}
+			if !same(result, first[i]) {
+				t.Errorf("result %d: %+v; at first %+v", i, result, first[i])
+			}
+		}
+		if !same(s, example()) || !same(state, startOf(example())) {
+			t.Error("an argument is changed")
+		}
+		states := [][]impl.Point{start, none, one, read}
+		for _, move := range moves {
+			states = append(states, move.State)
+		}
+		for _, step := range steps {
+			clear(step.Next.Values)
+		}
+		for _, changed := range states {
+			for _, p := range changed {
+				clear(p.Values)
+			}
+			clear(changed)
+		}
+		clear(steps)
+		clear(moves)
+		clear(labels)
+		clear(names)
 	}
 }
 

@@ -60,6 +60,9 @@ func TestPromise6UnusedDefinitionsMayBeRemoved(t *testing.T) {
 			if !same(got, want) {
 				t.Fatalf("%+v in %+v: %+v, and pruned %+v", s, state, want, got)
 			}
+			if found, code := impl.MovesOf(pruned, renumbered(state, used)); !same(found, want) || code != impl.OK {
+				t.Fatalf("%+v in %+v: %+v, and pruned %+v, code %d", s, state, want, found, code)
+			}
 			moves += len(want)
 		}
 		if !same(startOf(pruned), renumbered(startOf(s), used)) {
