@@ -203,6 +203,81 @@ func TestHelperSeesChangesOfStates(t *testing.T) {
 	}
 }
 
+// linearParts returns functions that give each slice of a linear process: its Start, its summands, and what these hold.
+func linearParts() []func(l impl.Linear) any {
+	return []func(l impl.Linear) any{
+		func(l impl.Linear) any { return l.Start },
+		func(l impl.Linear) any { return l.Summands },
+		func(l impl.Linear) any { return l.Summands[1].Sums },
+		func(l impl.Linear) any { return l.Summands[1].Guard },
+		func(l impl.Linear) any { return l.Summands[1].Arguments },
+		func(l impl.Linear) any { return l.Summands[1].Arguments[1] },
+		func(l impl.Linear) any { return l.Summands[1].Next },
+		func(l impl.Linear) any { return l.Summands[1].Next[2] },
+	}
+}
+
+func TestHelperSeesSharedMemoryOfLinears(t *testing.T) {
+	l, other := copied(counter()), copied(counter())
+	for i, part := range linearParts() {
+		if !sharesMemory(valuesOf([]any{l}), valuesOf([]any{part(l)})) || !sharesMemory(valuesOf([]any{part(l)}), valuesOf([]any{l})) {
+			t.Error("shared with an argument:", i)
+		}
+		if !sharesMemory(nil, valuesOf([]any{l, part(l)})) {
+			t.Error("shared with another result:", i)
+		}
+		if sharesMemory(valuesOf([]any{l}), valuesOf([]any{part(other)})) {
+			t.Error("not shared:", i)
+		}
+	}
+	if sharesMemory(valuesOf([]any{l}), valuesOf([]any{other})) || sharesMemory(nil, valuesOf([]any{l, other})) {
+		t.Error("not shared")
+	}
+	for i, change := range []changeOfLinear{
+		func(l *impl.Linear) { l.Summands[2].Sums = l.Summands[1].Sums[1:] },
+		func(l *impl.Linear) { l.Summands[2].Sums = l.Start[:1] },
+		func(l *impl.Linear) { l.Summands[2].Guard = l.Summands[1].Guard },
+		func(l *impl.Linear) { l.Summands[2].Arguments = l.Summands[1].Next[:2] },
+		func(l *impl.Linear) { l.Summands[2].Next[0] = l.Summands[2].Next[1] },
+		func(l *impl.Linear) { l.Summands[2].Next[0] = l.Summands[1].Arguments[0] },
+	} {
+		shared := copied(counter())
+		change(&shared)
+		if !sharesMemory(nil, valuesOf([]any{shared})) {
+			t.Error("shared inside of a result:", i)
+		}
+	}
+}
+
+func TestHelperSeesChangesOfLinears(t *testing.T) {
+	for i, change := range []changeOfLinear{
+		func(l *impl.Linear) { l.Start[2]++ },
+		func(l *impl.Linear) { _ = append(l.Start, 1) },
+		func(l *impl.Linear) { l.Summands[1].Name = "c" },
+		func(l *impl.Linear) { _ = append(l.Summands, impl.Summand{}) },
+		func(l *impl.Linear) { l.Summands[1].Sums[1]++ },
+		func(l *impl.Linear) { _ = append(l.Summands[1].Sums, 1) },
+		func(l *impl.Linear) { l.Summands[1].Guard[0].Value++ },
+		func(l *impl.Linear) { _ = append(l.Summands[1].Guard, impl.Term{}) },
+		func(l *impl.Linear) { _ = append(l.Summands[0].Arguments, nil) },
+		func(l *impl.Linear) { l.Summands[1].Arguments[1][0].Kind++ },
+		func(l *impl.Linear) { _ = append(l.Summands[1].Arguments[1], impl.Term{}) },
+		func(l *impl.Linear) {
+			l.Summands[1].Next[0], l.Summands[1].Next[1] = l.Summands[1].Next[1], l.Summands[1].Next[0]
+		},
+		func(l *impl.Linear) { _ = append(l.Summands[1].Next, nil) },
+		func(l *impl.Linear) { _ = append(l.Summands[1].Next[2], impl.Term{}) },
+	} {
+		given := copyOf(reflect.ValueOf(counter()), spareRoom)
+		before := withCapacity(given).Interface()
+		l := given.Interface().(impl.Linear)
+		change(&l)
+		if reflect.DeepEqual(before, withCapacity(given).Interface()) {
+			t.Error("a change of a linear process is not seen:", i)
+		}
+	}
+}
+
 // TestHelperTriesNilAndEmptySlices looks at the copies that the functions are called with.
 func TestHelperTriesNilAndEmptySlices(t *testing.T) {
 	nested := reflect.ValueOf([][]int64{nil, {}})

@@ -58,6 +58,14 @@ func functionsOfStage5() []any {
 	}
 }
 
+// functionsOfStage6 returns all functions of chapter 8.
+func functionsOfStage6() []any {
+	return []any{
+		impl.ValidLinear, impl.LinearMoves, impl.PlacesOf, impl.LinearOf, impl.ConstantParameters, impl.RemoveConstants, impl.NeededParameters,
+		impl.RemoveUnused, impl.FoldLinear, impl.UnrollSums, impl.LinearText, impl.ReadLinear,
+	}
+}
+
 // argumentsOf returns arguments of one type, most of them invalid somewhere.
 func argumentsOf(typ reflect.Type) []any {
 	switch typ {
@@ -69,7 +77,8 @@ func argumentsOf(typ reflect.Type) []any {
 			"+", "<=", "v0", "v0+)", "(v0", "v0 64", "!(v0=1)&v1-(2-v2)<3", strings.Repeat("!", 60) + "0", strings.Repeat("(", 400),
 			"\x00", "\xff", "\xff(\xff)", "é(1)", " a  b ", strings.Repeat("a", 3000), strings.Repeat("0|", 3000), strings.Repeat(",", 3000),
 			strings.Repeat("9", 3000), "\ud7ff\ue000",
-			"put", "p:0:-", "send:0:- hold:0:- add:0:5", "send:0:- hold:0:- add:0:05", "p:0:0 r:0:-9", "proc p 0 = a.p", "proc p 0 = a.p\nrun p", "proc p 0 = a.q\nrun p", "proc p 0 = a.p(1)\nrun p"}
+			"put", "p:0:-", "send:0:- hold:0:- add:0:5", "send:0:- hold:0:- add:0:05", "p:0:0 r:0:-9", "proc p 0 = a.p", "proc p 0 = a.p\nrun p", "proc p 0 = a.q\nrun p", "proc p 0 = a.p(1)\nrun p",
+			"linear 0: -", "linear 1: 5\nsum 1 if v0<v1 do a(v1) then v0", "linear 1: 5\nsum 1 if v0<v2 do a(v1) then v0"}
 	case reflect.TypeFor[[]int64]():
 		return []any{[]int64(nil), []int64{0}, []int64{1}, []int64{-1}, []int64{0, 0}, []int64{0, 1, 0}, []int64{0, 1, 1}, []int64{0, 2},
 			[]int64{7, 3, 7, 5}, []int64{math.MinInt64, math.MaxInt64}, counted(40), repeated(40, 0), counted(41), repeated(64, 3), repeated(65, 3),
@@ -87,6 +96,8 @@ func argumentsOf(typ reflect.Type) []any {
 		return pointArguments()
 	case reflect.TypeFor[[]impl.Point]():
 		return stateArguments()
+	case reflect.TypeFor[impl.Linear]():
+		return linearArguments()
 	case reflect.TypeFor[[][]impl.Term]():
 		return []any{[][]impl.Term(nil), [][]impl.Term{nil}, [][]impl.Term{num(1)}, [][]impl.Term{vr(0), vr(1)}, [][]impl.Term{vr(0), nil},
 			[][]impl.Term{vr(0), num(64)}, slices.Repeat([][]impl.Term{num(1)}, 30), slices.Repeat([][]impl.Term{num(1)}, 31),
@@ -161,8 +172,16 @@ func stateArguments() []any {
 	return list
 }
 
+func linearArguments() []any {
+	list := []any{impl.Linear{Parameters: math.MaxInt64, Start: repeated(1000, math.MinInt64), Summands: make([]impl.Summand, 1000)}, impl.Linear{Summands: make([]impl.Summand, 1)}}
+	for _, l := range slices.Concat(validLinears(), invalidLinears(), randomLinears(20)) {
+		list = append(list, l)
+	}
+	return list
+}
+
 func TestPromise1AllArguments(t *testing.T) {
-	for _, f := range slices.Concat(functionsOfStage1(), functionsOfStage2(), functionsOfStage3(), functionsOfStage4(), functionsOfStage5()) {
+	for _, f := range slices.Concat(functionsOfStage1(), functionsOfStage2(), functionsOfStage3(), functionsOfStage4(), functionsOfStage5(), functionsOfStage6()) {
 		t.Run(nameOf(f), func(t *testing.T) {
 			t.Parallel()
 			typ := reflect.TypeOf(f)
@@ -291,6 +310,52 @@ func TestPromise1StatesAreTheCallers(t *testing.T) {
 		clear(moves)
 		clear(labels)
 		clear(names)
+	}
+}
+
+// TestPromise1LinearsAreTheCallers changes results, which must change neither the arguments nor what later calls return.
+func TestPromise1LinearsAreTheCallers(t *testing.T) {
+	s, l := copied(example()), lin("linear 3: 7,0,9", "sum 1,2 if v0+v1<v3 do a(v2,v4) then v0;v3;v2", "sum - if 1 do tau then 7;v1;v0+2")
+	var first []any
+	for range 2 {
+		places, _ := impl.PlacesOf(s)
+		moves, _ := impl.LinearMoves(l, []int64{0, 0, 5})
+		made, _ := impl.LinearOf(s, 2)
+		folded, _ := impl.FoldLinear(l)
+		unrolled, _ := impl.UnrollSums(l)
+		less, left, _ := impl.RemoveConstants(l)
+		used, needed, _ := impl.RemoveUnused(l)
+		constant, _ := impl.ConstantParameters(l)
+		also, _ := impl.NeededParameters(l)
+		read, _ := impl.ReadLinear("linear 1: 5\nsum 1 if v0<v1 do a(v1) then v0")
+		got := []any{places, moves, made, folded, unrolled, less, left, used, needed, constant, also, read}
+		for i, result := range got {
+			if len(first) <= i {
+				first = append(first, emptyForNil(result))
+			}
+			if !same(result, first[i]) {
+				t.Errorf("result %d: %+v; at first %+v", i, result, first[i])
+			}
+			clearAll(reflect.ValueOf(result))
+		}
+		if !same(s, example()) || exactText(l) != "linear 3: 7,0,9\nsum 1,2 if v0+v1<v3 do a(v2,v4) then v0;v3;v2\nsum - if 1 do tau then 7;v1;v0+2" {
+			t.Error("an argument is changed")
+		}
+	}
+}
+
+// clearAll puts other values into all slices that a result holds.
+func clearAll(v reflect.Value) {
+	switch v.Kind() {
+	case reflect.Struct:
+		for i := range v.NumField() {
+			clearAll(v.Field(i))
+		}
+	case reflect.Slice:
+		for i := range v.Len() {
+			clearAll(v.Index(i))
+			fill(v.Index(i))
+		}
 	}
 }
 

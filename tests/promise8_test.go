@@ -284,7 +284,7 @@ func TestPromise8OnlyTextsOfStatesAreRead(t *testing.T) {
 			texts[impl.StateText(s, state)] = state
 		}
 		for text := range texts {
-			for _, other := range changedTexts(text) {
+			for _, other := range changedTexts(text, "0123456789:,- +pq\t\x00") {
 				want, found := texts[other]
 				if state, ok := impl.ReadState(s, other); !same(state, want) || ok != found {
 					t.Fatalf("%q is read as %+v, %v; want %+v, %v", other, state, ok, want, found)
@@ -330,11 +330,11 @@ func allPoints(list []impl.Definition) []impl.Point {
 	return points
 }
 
-// changedTexts returns the text and those with one byte less, one more, or another one.
-func changedTexts(text string) []string {
+// changedTexts returns the text and those with one byte less, or with one of some bytes more or in place of another one.
+func changedTexts(text, bytes string) []string {
 	list := []string{text, ""}
 	for i := range len(text) + 1 {
-		for _, c := range "0123456789:,- +pq\t\x00" {
+		for _, c := range bytes {
 			list = append(list, text[:i]+string(c)+text[i:])
 			if i < len(text) {
 				list = append(list, text[:i]+string(c)+text[i+1:])
