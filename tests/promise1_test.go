@@ -2,6 +2,7 @@ package tests
 
 import (
 	"math"
+	"math/rand/v2"
 	"reflect"
 	"runtime"
 	"slices"
@@ -66,6 +67,14 @@ func functionsOfStage6() []any {
 	}
 }
 
+// functionsOfStage7 returns all functions of chapter 9.
+func functionsOfStage7() []any {
+	return []any{
+		impl.InterleaveLinear, impl.MeetLinear, impl.RestrictLinear, impl.HideLinear, impl.RenameLinear, impl.DistinctSummands, impl.LinearNames,
+		impl.StartLinear, impl.NetworkLinear,
+	}
+}
+
 // argumentsOf returns arguments of one type, most of them invalid somewhere.
 func argumentsOf(typ reflect.Type) []any {
 	switch typ {
@@ -98,6 +107,11 @@ func argumentsOf(typ reflect.Type) []any {
 		return stateArguments()
 	case reflect.TypeFor[impl.Linear]():
 		return linearArguments()
+	case reflect.TypeFor[[]string]():
+		return []any{[]string(nil), []string{"a"}, []string{"a", "b", "move"}, manyNames(12), manyNames(13), []string{"b", "a"}, []string{"a", "a"}, []string{"tau"}, []string{""},
+			[]string{"\xff"}, make([]string, 1000)}
+	case reflect.TypeFor[[]impl.Meeting]():
+		return []any{[]impl.Meeting(nil), meetings("a a c", "a b c"), meetings("a taus c", "b b c"), meetings("b a c"), meetings("a b tau"), make([]impl.Meeting, 1000)}
 	case reflect.TypeFor[[][]impl.Term]():
 		return []any{[][]impl.Term(nil), [][]impl.Term{nil}, [][]impl.Term{num(1)}, [][]impl.Term{vr(0), vr(1)}, [][]impl.Term{vr(0), nil},
 			[][]impl.Term{vr(0), num(64)}, slices.Repeat([][]impl.Term{num(1)}, 30), slices.Repeat([][]impl.Term{num(1)}, 31),
@@ -181,25 +195,36 @@ func linearArguments() []any {
 }
 
 func TestPromise1AllArguments(t *testing.T) {
-	for _, f := range slices.Concat(functionsOfStage1(), functionsOfStage2(), functionsOfStage3(), functionsOfStage4(), functionsOfStage5(), functionsOfStage6()) {
+	t.Parallel()
+	for _, f := range slices.Concat(functionsOfStage1(), functionsOfStage2(), functionsOfStage3(), functionsOfStage4(), functionsOfStage5(), functionsOfStage6(), functionsOfStage7()) {
 		t.Run(nameOf(f), func(t *testing.T) {
 			t.Parallel()
-			typ := reflect.TypeOf(f)
-			lists := [][]any{nil}
-			for i := range typ.NumIn() {
-				var longer [][]any
-				for _, list := range lists {
-					for _, a := range argumentsOf(typ.In(i)) {
-						longer = append(longer, append(list[:len(list):len(list)], a))
-					}
-				}
-				lists = longer
-			}
-			for _, args := range lists {
+			for _, args := range argumentLists(reflect.TypeOf(f)) {
 				checkZeroValues(t, f, args, call(t, f, args...))
 			}
 		})
 	}
+}
+
+// argumentLists returns all lists of arguments of a function, or some if there are very many.
+func argumentLists(typ reflect.Type) [][]any {
+	const most = 12000
+	r := rand.New(rand.NewPCG(67, 68))
+	lists := [][]any{nil}
+	for i := range typ.NumIn() {
+		var longer [][]any
+		for _, list := range lists {
+			for _, a := range argumentsOf(typ.In(i)) {
+				longer = append(longer, append(list[:len(list):len(list)], a))
+			}
+		}
+		if len(longer) > most {
+			r.Shuffle(len(longer), func(i, k int) { longer[i], longer[k] = longer[k], longer[i] })
+			longer = longer[:most]
+		}
+		lists = longer
+	}
+	return lists
 }
 
 // checkZeroValues checks that the results beside an error code or a false are zero values.
@@ -269,11 +294,26 @@ func TestPromise1TermsAreTheCallers(t *testing.T) {
 	}
 }
 
-// TestPromise1StatesAreTheCallers changes results, which must change neither the arguments nor what later calls return.
-func TestPromise1StatesAreTheCallers(t *testing.T) {
-	s, state := copied(example()), copied(startOf(example()))
+// checkCallers makes results twice and changes them in between, which must not change what is made the second time.
+func checkCallers(t *testing.T, results func() []any) {
+	t.Helper()
 	var first []any
 	for range 2 {
+		for i, result := range results() {
+			if len(first) <= i {
+				first = append(first, emptyForNil(result))
+			}
+			if !same(result, first[i]) {
+				t.Errorf("result %d: %+v; at first %+v", i, result, first[i])
+			}
+			clearAll(reflect.ValueOf(result))
+		}
+	}
+}
+
+func TestPromise1StatesAreTheCallers(t *testing.T) {
+	s, state := copied(example()), copied(startOf(example()))
+	checkCallers(t, func() []any {
 		start, _ := impl.StartState(s)
 		steps, _ := impl.StepsOf(s.Definitions, state[2])
 		moves, _ := impl.MovesOf(s, state)
@@ -281,43 +321,16 @@ func TestPromise1StatesAreTheCallers(t *testing.T) {
 		one, labels, _ := impl.TakeMoves(s, state, []int64{8})
 		names, _ := impl.MoveLabels(s, state)
 		read, _ := impl.ReadState(s, "send:0:- hold:0:- add:0:5")
-		got := []any{start, steps, moves, none, one, labels, names, read}
-		for i, result := range got {
-			if len(first) <= i {
-				first = append(first, emptyForNil(result))
-			}
-			if !same(result, first[i]) {
-				t.Errorf("result %d: %+v; at first %+v", i, result, first[i])
-			}
-		}
-		if !same(s, example()) || !same(state, startOf(example())) {
-			t.Error("an argument is changed")
-		}
-		states := [][]impl.Point{start, none, one, read}
-		for _, move := range moves {
-			states = append(states, move.State)
-		}
-		for _, step := range steps {
-			clear(step.Next.Values)
-		}
-		for _, changed := range states {
-			for _, p := range changed {
-				clear(p.Values)
-			}
-			clear(changed)
-		}
-		clear(steps)
-		clear(moves)
-		clear(labels)
-		clear(names)
+		return []any{start, steps, moves, none, one, labels, names, read}
+	})
+	if !same(s, example()) || !same(state, startOf(example())) {
+		t.Error("an argument is changed")
 	}
 }
 
-// TestPromise1LinearsAreTheCallers changes results, which must change neither the arguments nor what later calls return.
 func TestPromise1LinearsAreTheCallers(t *testing.T) {
 	s, l := copied(example()), lin("linear 3: 7,0,9", "sum 1,2 if v0+v1<v3 do a(v2,v4) then v0;v3;v2", "sum - if 1 do tau then 7;v1;v0+2")
-	var first []any
-	for range 2 {
+	checkCallers(t, func() []any {
 		places, _ := impl.PlacesOf(s)
 		moves, _ := impl.LinearMoves(l, []int64{0, 0, 5})
 		made, _ := impl.LinearOf(s, 2)
@@ -328,19 +341,32 @@ func TestPromise1LinearsAreTheCallers(t *testing.T) {
 		constant, _ := impl.ConstantParameters(l)
 		also, _ := impl.NeededParameters(l)
 		read, _ := impl.ReadLinear("linear 1: 5\nsum 1 if v0<v1 do a(v1) then v0")
-		got := []any{places, moves, made, folded, unrolled, less, left, used, needed, constant, also, read}
-		for i, result := range got {
-			if len(first) <= i {
-				first = append(first, emptyForNil(result))
-			}
-			if !same(result, first[i]) {
-				t.Errorf("result %d: %+v; at first %+v", i, result, first[i])
-			}
-			clearAll(reflect.ValueOf(result))
-		}
-		if !same(s, example()) || exactText(l) != "linear 3: 7,0,9\nsum 1,2 if v0+v1<v3 do a(v2,v4) then v0;v3;v2\nsum - if 1 do tau then 7;v1;v0+2" {
-			t.Error("an argument is changed")
-		}
+		return []any{places, moves, made, folded, unrolled, less, left, used, needed, constant, also, read}
+	})
+	if !same(s, example()) || exactText(l) != "linear 3: 7,0,9\nsum 1,2 if v0+v1<v3 do a(v2,v4) then v0;v3;v2\nsum - if 1 do tau then 7;v1;v0+2" {
+		t.Error("an argument is changed")
+	}
+}
+
+// TestPromise1NetworksAreTheCallers also composes a process with itself.
+func TestPromise1NetworksAreTheCallers(t *testing.T) {
+	s, l := copied(example()), copied(actions())
+	list, names, start := meetings("a a c", "b b c"), []string{"a"}, []int64{1, 2}
+	checkCallers(t, func() []any {
+		both, _ := impl.InterleaveLinear(l, l)
+		met, _ := impl.MeetLinear(l, l, list)
+		alone, _ := impl.MeetLinear(l, impl.Linear{}, list)
+		restricted, _ := impl.RestrictLinear(l, names)
+		hidden, _ := impl.HideLinear(l, names)
+		renamed, _ := impl.RenameLinear(l, "a", "b")
+		distinct, _ := impl.DistinctSummands(l)
+		found, _ := impl.LinearNames(l)
+		started, _ := impl.StartLinear(l, start)
+		network, _ := impl.NetworkLinear(s)
+		return []any{both, met, alone, restricted, hidden, renamed, distinct, found, started, network}
+	})
+	if !same(s, example()) || !same(l, actions()) || !same(list, meetings("a a c", "b b c")) || !same(names, []string{"a"}) || !same(start, []int64{1, 2}) {
+		t.Error("an argument is changed")
 	}
 }
 

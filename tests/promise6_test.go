@@ -42,6 +42,7 @@ func canComeTo(s impl.System) []int64 {
 }
 
 func TestPromise6UnusedDefinitionsMayBeRemoved(t *testing.T) {
+	t.Parallel()
 	removed, moves, meetings := 0, 0, 0
 	for _, s := range append(randomSystems(400), example()) {
 		used := canComeTo(s)
@@ -145,6 +146,7 @@ func checkFault(t *testing.T, list []impl.Definition, k int) int64 {
 }
 
 func TestPromise6FaultsAreThoseOfTheDefinition(t *testing.T) {
+	t.Parallel()
 	m := maker{r: rand.New(rand.NewPCG(19, 20))}
 	var seen [9]int
 	for i := range 20000 {

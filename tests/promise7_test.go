@@ -207,6 +207,7 @@ func TestPromise7SpoiledTexts(t *testing.T) {
 
 // TestPromise7ErrorsAtEachByte puts a byte that begins no token before each byte of a text, and takes away its end.
 func TestPromise7ErrorsAtEachByte(t *testing.T) {
+	t.Parallel()
 	r := rand.New(rand.NewPCG(27, 28))
 	for _, s := range sourceSystems(6) {
 		text := loosely(r, s)
@@ -220,6 +221,7 @@ func TestPromise7ErrorsAtEachByte(t *testing.T) {
 }
 
 func TestPromise7NamesOfDefinitionsCanBeTakenBack(t *testing.T) {
+	t.Parallel()
 	for _, s := range sourceSystems(40) {
 		for k, d := range s.Definitions {
 			for _, name := range append(oddNames(), "p", "q", "fresh") {
@@ -258,6 +260,7 @@ func namesOfActions(s impl.System) map[string]bool {
 }
 
 func TestPromise7NamesOfActionsCanBeTakenBack(t *testing.T) {
+	t.Parallel()
 	exchanged := 0
 	for _, s := range sourceSystems(60) {
 		known := namesOfActions(s)

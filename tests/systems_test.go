@@ -67,16 +67,21 @@ func meetings(texts ...string) []impl.Meeting {
 	return list
 }
 
-func faultyMeetings() []changeOfSystem {
-	var changes []changeOfSystem
-	for _, list := range [][]impl.Meeting{
+// noMeetings returns lists that are not as in a valid system.
+func noMeetings() [][]impl.Meeting {
+	return [][]impl.Meeting{
 		meetings("b a c"), meetings("a b c", "d c e"),
 		meetings("a b c", "a b c"), meetings("a b c", "a b d"), meetings("a c z", "a b z"), meetings("b b z", "a c z"), meetings("b b z", "a b z"), meetings("ab b z", "a b z"),
 		meetings("a b a"), meetings("a b b"), meetings("a a a"), meetings("a b c", "c d e"), meetings("a b c", "b c e"), meetings("a b e", "c d b"), meetings("a b e", "c d a"),
 		meetings("tau tau c"), meetings("a tau c"), meetings("a b tau"), meetings("a tau tau"), meetings("a B c"), meetings("A b c"), meetings("a b C"),
 		meetings("1 b c"), meetings(" b c"), meetings("a  c"), meetings("a b "), meetings("a b a2345678901"), meetings("a a2345678901 c"), meetings("a b c(1)"),
 		meetings("a b z", "a c z", "a d z", "a e z", "a f z", "a g z", "a h z"), make([]impl.Meeting, 1), make([]impl.Meeting, 1000),
-	} {
+	}
+}
+
+func faultyMeetings() []changeOfSystem {
+	var changes []changeOfSystem
+	for _, list := range noMeetings() {
 		changes = append(changes, func(s *impl.System) { s.Meetings = list })
 	}
 	return changes
@@ -91,12 +96,17 @@ func manyNames(n int) []string {
 	return names
 }
 
-func faultyNames(put func(s *impl.System, names []string)) []changeOfSystem {
-	var changes []changeOfSystem
-	for _, names := range [][]string{
+// noActionLists returns lists that are not strictly increasing ones of at most MaxNames names of actions.
+func noActionLists() [][]string {
+	return [][]string{
 		{"tau"}, {"a", "tau"}, {""}, {"A"}, {"a", "1"}, {"a(1)"}, {"a2345678901"}, {"a", "a"}, {"b", "a"}, {"a", "c", "b"}, {"ab", "a"}, {"a", "a0", "aa", "a1"},
 		manyNames(13), append(manyNames(12), "z"), make([]string, 1000),
-	} {
+	}
+}
+
+func faultyNames(put func(s *impl.System, names []string)) []changeOfSystem {
+	var changes []changeOfSystem
+	for _, names := range noActionLists() {
 		changes = append(changes, func(s *impl.System) { put(s, names) })
 	}
 	return changes
