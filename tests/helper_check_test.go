@@ -278,6 +278,60 @@ func TestHelperSeesChangesOfLinears(t *testing.T) {
 	}
 }
 
+func TestHelperSeesSharedMemoryOfLtss(t *testing.T) {
+	x, other := copied(house()), copied(house())
+	for i, part := range []func(x impl.Lts) any{
+		func(x impl.Lts) any { return x.Labels },
+		func(x impl.Lts) any { return x.Labels[:1] },
+		func(x impl.Lts) any { return x.Edges },
+		func(x impl.Lts) any { return x.Edges[9:] },
+		func(x impl.Lts) any { return impl.Lts{Edges: x.Edges} },
+	} {
+		if !sharesMemory(valuesOf([]any{x}), valuesOf([]any{part(x)})) || !sharesMemory(valuesOf([]any{part(x)}), valuesOf([]any{x})) {
+			t.Error("shared with an argument:", i)
+		}
+		if !sharesMemory(nil, valuesOf([]any{x, part(x)})) {
+			t.Error("shared with another result:", i)
+		}
+		if sharesMemory(valuesOf([]any{x}), valuesOf([]any{part(other)})) {
+			t.Error("not shared:", i)
+		}
+	}
+	// Lists of states, which hold lists of values or of points with values.
+	states := [][][]impl.Point{copied([][]impl.Point{{pt(0, 0, 1), pt(0, 0, 2)}, {pt(0, 0, 3)}}), copied([][]impl.Point{{pt(0, 0, 1), pt(0, 0, 2)}, {pt(0, 0, 3)}}), copied([][]impl.Point{{pt(0, 0, 1)}, {pt(0, 0, 3)}})}
+	if sharesMemory(nil, valuesOf([]any{states[0], states[1], states[2]})) {
+		t.Error("not shared")
+	}
+	states[0][1][0].Values = states[0][0][1].Values
+	states[1][1] = states[1][0][:1]
+	states[2][1][0].Values = states[2][0][0].Values[:0:1]
+	for i, list := range states {
+		if !sharesMemory(nil, valuesOf([]any{list})) {
+			t.Error("shared inside of a result:", i)
+		}
+	}
+}
+
+func TestHelperSeesChangesOfLtss(t *testing.T) {
+	for i, change := range []changeOfLts{
+		func(x *impl.Lts) { x.Labels[1] = "c" },
+		func(x *impl.Lts) { _ = append(x.Labels, "c") },
+		func(x *impl.Lts) { x.Edges[0].From++ },
+		func(x *impl.Lts) { x.Edges[9].Label++ },
+		func(x *impl.Lts) { x.Edges[9].To++ },
+		func(x *impl.Lts) { x.Edges[0], x.Edges[1] = x.Edges[1], x.Edges[0] },
+		func(x *impl.Lts) { _ = append(x.Edges, impl.Edge{}) },
+	} {
+		given := copyOf(reflect.ValueOf(house()), spareRoom)
+		before := withCapacity(given).Interface()
+		x := given.Interface().(impl.Lts)
+		change(&x)
+		if reflect.DeepEqual(before, withCapacity(given).Interface()) {
+			t.Error("a change of a transition system is not seen:", i)
+		}
+	}
+}
+
 // TestHelperTriesNilAndEmptySlices looks at the copies that the functions are called with.
 func TestHelperTriesNilAndEmptySlices(t *testing.T) {
 	nested := reflect.ValueOf([][]int64{nil, {}})

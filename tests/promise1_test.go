@@ -75,6 +75,14 @@ func functionsOfStage7() []any {
 	}
 }
 
+// functionsOfStage8 returns all functions of chapter 10, and those of chapter 11 that its tests need.
+func functionsOfStage8() []any {
+	return []any{
+		impl.ExploreLinear, impl.ExploreSystem, impl.StateIndex, impl.DistancesOf, impl.ShortestPath, impl.EndOfPath, impl.PathLabels,
+		impl.ReplayLabels, impl.ReplayLinear, impl.CheckInvariant, impl.DeadlockTrace, impl.ValidLts, impl.LtsText,
+	}
+}
+
 // argumentsOf returns arguments of one type, most of them invalid somewhere.
 func argumentsOf(typ reflect.Type) []any {
 	switch typ {
@@ -107,8 +115,10 @@ func argumentsOf(typ reflect.Type) []any {
 		return stateArguments()
 	case reflect.TypeFor[impl.Linear]():
 		return linearArguments()
+	case reflect.TypeFor[impl.Lts]():
+		return ltsArguments()
 	case reflect.TypeFor[[]string]():
-		return []any{[]string(nil), []string{"a"}, []string{"a", "b", "move"}, manyNames(12), manyNames(13), []string{"b", "a"}, []string{"a", "a"}, []string{"tau"}, []string{""},
+		return []any{[]string(nil), []string{"a"}, []string{"a", "a", "a(1)"}, []string{"tau", "tau", "b"}, []string{"a", "b", "move"}, manyNames(12), manyNames(13), []string{"b", "a"}, []string{"a", "a"}, []string{"tau"}, []string{""},
 			[]string{"\xff"}, make([]string, 1000)}
 	case reflect.TypeFor[[]impl.Meeting]():
 		return []any{[]impl.Meeting(nil), meetings("a a c", "a b c"), meetings("a taus c", "b b c"), meetings("b a c"), meetings("a b tau"), make([]impl.Meeting, 1000)}
@@ -188,15 +198,23 @@ func stateArguments() []any {
 
 func linearArguments() []any {
 	list := []any{impl.Linear{Parameters: math.MaxInt64, Start: repeated(1000, math.MinInt64), Summands: make([]impl.Summand, 1000)}, impl.Linear{Summands: make([]impl.Summand, 1)}}
-	for _, l := range slices.Concat(validLinears(), invalidLinears(), randomLinears(20)) {
+	for _, l := range slices.Concat(validLinears(), invalidLinears(), randomLinears(20), walkers(20)) {
 		list = append(list, l)
+	}
+	return list
+}
+
+func ltsArguments() []any {
+	list := []any{impl.Lts{States: math.MinInt64, Initial: math.MaxInt64, Labels: make([]string, 1000), Edges: make([]impl.Edge, 1000)}}
+	for _, x := range slices.Concat(validLtss(), invalidLtss(), smallLtss(20), largeLtss(5)) {
+		list = append(list, x)
 	}
 	return list
 }
 
 func TestPromise1AllArguments(t *testing.T) {
 	t.Parallel()
-	for _, f := range slices.Concat(functionsOfStage1(), functionsOfStage2(), functionsOfStage3(), functionsOfStage4(), functionsOfStage5(), functionsOfStage6(), functionsOfStage7()) {
+	for _, f := range slices.Concat(functionsOfStage1(), functionsOfStage2(), functionsOfStage3(), functionsOfStage4(), functionsOfStage5(), functionsOfStage6(), functionsOfStage7(), functionsOfStage8()) {
 		t.Run(nameOf(f), func(t *testing.T) {
 			t.Parallel()
 			for _, args := range argumentLists(reflect.TypeOf(f)) {
@@ -366,6 +384,30 @@ func TestPromise1NetworksAreTheCallers(t *testing.T) {
 		return []any{both, met, alone, restricted, hidden, renamed, distinct, found, started, network}
 	})
 	if !same(s, example()) || !same(l, actions()) || !same(list, meetings("a a c", "b b c")) || !same(names, []string{"a"}) || !same(start, []int64{1, 2}) {
+		t.Error("an argument is changed")
+	}
+}
+
+// TestPromise1ExplorationsAreTheCallers also takes the state beside a false, which is one of those that were explored.
+func TestPromise1ExplorationsAreTheCallers(t *testing.T) {
+	s := systemOf(t, "proc p 1 = sum 1.[v0<2]a(v1).p(v0+1)", "proc q 0 = a(1).q", "run p(0) | q", "meet a a c", "allow a c")
+	l, x := lin("linear 2: 7,0", "sum 1 if v1<2 do a(v2) then v0;v1+1", "sum - if v0=7 do tau then 8;v1"), copied(house())
+	targets, path, labels, e := []int64{0, 3}, []int64{3, 6}, []string{"a(1)"}, op(impl.OpLess, vr(1), num(2))
+	checkCallers(t, func() []any {
+		one, states, _ := impl.ExploreLinear(l)
+		two, points, _ := impl.ExploreSystem(s)
+		distances, _ := impl.DistancesOf(x)
+		shortest, _ := impl.ShortestPath(x, targets)
+		names, _ := impl.PathLabels(x, path)
+		replayed, _ := impl.ReplayLabels(x, labels)
+		none, _ := impl.ReplayLabels(x, nil)
+		reached, _ := impl.ReplayLinear(l, []string{"a(0)"})
+		start, _ := impl.ReplayLinear(l, nil)
+		_, broken, _ := impl.CheckInvariant(l, e)
+		trace, _ := impl.DeadlockTrace(l)
+		return []any{one, states, two, points, distances, shortest, names, replayed, none, reached, start, broken, trace}
+	})
+	if !same(l.Start, []int64{7, 0}) || !same(x, house()) || !same(targets, []int64{0, 3}) || !same(path, []int64{3, 6}) || !same(labels, []string{"a(1)"}) || !same(e, op(impl.OpLess, vr(1), num(2))) {
 		t.Error("an argument is changed")
 	}
 }
