@@ -126,17 +126,144 @@ func TestLtsText(t *testing.T) {
 	}
 }
 
+// differentLtss returns systems that differ from one another, most of them in one place only.
+func differentLtss() []impl.Lts {
+	list := append(changedLtss(house(),
+		func(x *impl.Lts) { x.States++ },
+		func(x *impl.Lts) { x.States = -5 },
+		func(x *impl.Lts) { x.Initial = 0 },
+		func(x *impl.Lts) { x.Initial = math.MinInt64 },
+		func(x *impl.Lts) { x.Labels[0] = "" },
+		func(x *impl.Lts) { x.Labels[4] = "c" },
+		func(x *impl.Lts) { x.Labels[1], x.Labels[2] = x.Labels[2], x.Labels[1] },
+		func(x *impl.Lts) { x.Labels = append(x.Labels, "c") },
+		func(x *impl.Lts) { x.Labels = append(x.Labels, "") },
+		func(x *impl.Lts) { x.Labels = x.Labels[:4] },
+		func(x *impl.Lts) { x.Labels = nil },
+		func(x *impl.Lts) { x.Edges[9].From++ },
+		func(x *impl.Lts) { x.Edges[0].Label++ },
+		func(x *impl.Lts) { x.Edges[5].To-- },
+		func(x *impl.Lts) { x.Edges[0], x.Edges[9] = x.Edges[9], x.Edges[0] },
+		func(x *impl.Lts) { slices.Reverse(x.Edges) },
+		func(x *impl.Lts) { x.Edges = append(x.Edges, x.Edges[9]) },
+		func(x *impl.Lts) { x.Edges = append(x.Edges, impl.Edge{}) },
+		func(x *impl.Lts) { x.Edges = x.Edges[1:] },
+		func(x *impl.Lts) { x.Edges = nil }), house())
+	return append(list, validLtss()[1:]...)
+}
+
+func TestSameLts(t *testing.T) {
+	list := append(differentLtss(), impl.Lts{}, impl.Lts{Labels: []string{""}}, impl.Lts{Edges: []impl.Edge{{}}}, impl.Lts{States: 1}, impl.Lts{Initial: 1})
+	for i, a := range list {
+		for k, b := range list {
+			expect(t, impl.SameLts, in(a, b), i == k)
+		}
+	}
+	// Lists that are empty are equal to those that are nil, whether or not the systems are valid.
+	for _, x := range []impl.Lts{{}, {States: 1, Labels: []string{"tau"}}} {
+		for _, edges := range [][]impl.Edge{nil, {}, make([]impl.Edge, 0, 5)} {
+			for _, labels := range [][]string{nil, {}, make([]string, 0, 5)} {
+				other := x
+				if other.Edges = edges; len(x.Labels) == 0 {
+					other.Labels = labels
+				}
+				if !impl.SameLts(x, other) || !impl.SameLts(other, x) {
+					t.Errorf("%+v and %+v", x, other)
+				}
+			}
+		}
+	}
+	for _, x := range invalidLtss() {
+		expect(t, impl.SameLts, in(x, x), true)
+		expect(t, impl.SameLts, in(x, house()), false)
+	}
+}
+
+// notLtsTexts returns texts of no system.
+func notLtsTexts() []string {
+	return []string{
+		"", "|", "||", "|||", "-", "1 0", "1 0|-", "1 0|-|-|", "1 0|-|-|-", "|1 0|-|-", "|-|-", "1 0|--", "1 0--", "1 0 - -", "1 0||-|-",
+		// Numbers of states: too few, too many, not canonical, too large, too small.
+		"1|-|-", "1 0 0|-|-", " |-|-", "-|-|-", "1 |-|-", " 0|-|-", " 1 0|-|-", "1 0 |-|-", "1  0|-|-", "1\t0|-|-", "1,0|-|-", "1:0|-|-", "01 0|-|-", "1 00|-|-", "+1 0|-|-", "1 -0|-|-", "0x1 0|-|-", "1_0 0|-|-",
+		"9223372036854775808 0|-|-", "18446744073709551617 0|-|-", "1 18446744073709551616|-|-", "1.0 0|-|-", "a 0|-|-", "0 0|-|-", "-1 0|-|-", "41 0|-|-", "1 1|-|-", "1 -1|-|-", "2 2|-|-", "\u0661 0|-|-",
+		// Parts that are empty, and blanks and lines too many or too few.
+		"1 0||", "1 0||-", "1 0|-|", "1 0| |-", "1 0|-| ", "1 0| -|-", "1 0|- |-", "1 0|-| -", "1 0|-|- ", "1 0 | -|-", "1 0|a |-", "1 0| a|-", "2 0|a  b|-", "2 0|-|0:0:0 ", "2 0|-| 0:0:0", "2 0|-|0:0:0  0:0:1", "2 0|-|0:0:00:0:1", "1 0|-|-\n", "\n1 0|-|-", "1 0|a\tb|-", "2 0|a,b|-",
+		// A hyphen beside elements, or twice.
+		"1 0|- -|-", "1 0|-|- -", "1 0|--|-", "1 0|-|--", "1 0|- a|-", "1 0|a -|-", "1 0|-|- 0:0:0", "1 0|-|0:0:0 -", "1 0|-|-:-:-",
+		// Labels.
+		"1 0|tau|-", "1 0|tau a|-", "1 0|a tau|-", "1 0|a tau taus|-", "1 0|b a|-", "1 0|a a|-", "1 0|A|-", "1 0|1|-", "1 0|a(01)|-", "1 0|a(1,)|-", "1 0|a(1, 2)|-", "1 0|a(64)|-", "1 0|a()|-", "1 0|\xff|-", "1 0|abcdefghijk|-",
+		// Edges: with too few or too many numbers, which are not canonical or too large, and not in order.
+		"1 0|-|0", "1 0|-|0:0", "1 0|-|0:0:0:0", "1 0|-|:0:0", "1 0|-|0::0", "1 0|-|0:0:", "1 0|-|0:0:0:", "1 0|-|::", "1 0|-|0: 0:0", "1 0|-|0,0,0", "1 0|-|0 0 0", "1 0|-|0-0-0", "1 0|-|00:0:0", "1 0|-|0:-0:0", "1 0|-|0:0:+0", "1 0|-|0:0:a",
+		"1 0|-|-1:0:0", "1 0|-|0:-1:0", "1 0|-|0:0:-1", "1 0|-|1:0:0", "1 0|-|0:1:0", "1 0|-|0:0:1", "1 0|-|0:0:18446744073709551616", "1 0|-|0:18446744073709551616:0", "1 0|-|9223372036854775808:0:0",
+		"2 0|a|0:1:1 0:1:1", "2 0|a|0:1:1 0:0:1", "2 0|a|0:0:1 0:0:0", "2 0|a|1:0:0 0:1:1", "2 0|a|0:0:0 1:0:0 0:1:0",
+		strings.Repeat("9", 3000), strings.Repeat("|", 3000), "1 0|-|" + strings.Repeat("0:0:0 ", 3000), "1 0|" + strings.Repeat("a ", 3000) + "|-", "40 0|-|" + strings.Repeat("0:0:0 ", 300) + "0:0:0",
+		exactLtsText(full(12, 0)), exactLtsText(full(0, 301)), exactLtsText(full(12, 301)),
+	}
+}
+
+func TestReadLts(t *testing.T) {
+	for _, x := range validLtss() {
+		expect(t, impl.ReadLts, in(exactLtsText(x)), x, true)
+	}
+	for _, text := range notLtsTexts() {
+		expect(t, impl.ReadLts, in(text), nil, false)
+		if _, ok := readLtsText(text); ok {
+			t.Errorf("%q should be a text", text)
+		}
+	}
+	for _, x := range invalidLtss() {
+		if len(x.Labels) > 0 {
+			want, ok := readLtsText(exactLtsText(x))
+			expect(t, impl.ReadLts, in(exactLtsText(x)), want, ok)
+		}
+	}
+}
+
+// A function of a system, the lists of its other arguments, and how many results are beside the code.
+type functionOfLts struct {
+	f       any
+	lists   [][]any
+	results int
+}
+
+func functionsOfLts() []functionOfLts {
+	none := [][]any{nil}
+	states := [][]any{{0}, {-1}, {5}, {math.MaxInt64}}
+	lists := [][]any{{nil}, {[]int64{0}}, {[]int64{-1}}, {[]int64{1, 0}}, {[]int64{0, 0}}, {[]int64{math.MaxInt64}}}
+	texts := [][]any{{nil}, {[]string{"a"}}, {[]string{""}}, {[]string{"tau", "\xff"}}}
+	return []functionOfLts{
+		{impl.DistancesOf, none, 1},
+		{impl.ShortestPath, lists, 1},
+		{impl.EndOfPath, lists, 1},
+		{impl.PathLabels, lists, 1},
+		{impl.ReplayLabels, texts, 1},
+		{impl.OutOf, states, 1},
+		{impl.SuccessorsOf, [][]any{{0, "a"}, {-1, "a"}, {0, ""}, {9, "\xff"}}, 1},
+		{impl.ReachableStates, none, 1},
+		{impl.ReachablePart, none, 2},
+		{impl.DeadlocksOf, none, 1},
+		{impl.UsedLabels, none, 1},
+		{impl.HideLabels, texts, 1},
+		{impl.RenameLabels, [][]any{{"a", "b"}, {"tau", "a"}, {"", "\xff"}}, 1},
+	}
+}
+
+// TestErrorsOfFunctionsOfLtss gives systems that are not valid, whatever the other arguments are.
 func TestErrorsOfFunctionsOfLtss(t *testing.T) {
 	for _, x := range invalidLtss() {
-		expect(t, impl.DistancesOf, in(x), nil, impl.ErrInvalid)
-		// Whatever the other argument is.
-		for _, list := range [][]int64{nil, {0}, {-1}, {1, 0}, {0, 0}, {math.MaxInt64}} {
-			expect(t, impl.ShortestPath, in(x, list), nil, impl.ErrInvalid)
-			expect(t, impl.EndOfPath, in(x, list), 0, impl.ErrInvalid)
-			expect(t, impl.PathLabels, in(x, list), nil, impl.ErrInvalid)
+		for _, c := range functionsOfLts() {
+			for _, list := range c.lists {
+				expect(t, c.f, append(in(x), list...), append(make([]any, c.results), int64(impl.ErrInvalid))...)
+			}
 		}
-		for _, labels := range [][]string{nil, {"a"}, {""}, {"tau", "\xff"}} {
-			expect(t, impl.ReplayLabels, in(x, labels), nil, impl.ErrInvalid)
+		expect(t, impl.IsDeterministicLts, in(x), false)
+		for _, other := range []impl.Lts{house(), full(11, 300), {}} {
+			expect(t, impl.UnionLts, in(x, other), nil, impl.ErrInvalid)
+			expect(t, impl.UnionLts, in(other, x), nil, impl.ErrInvalid)
+			for _, names := range [][]string{nil, {"a"}, {"tau"}, {""}} {
+				expect(t, impl.ProductLts, in(x, other, names), nil, impl.ErrInvalid)
+				expect(t, impl.ProductLts, in(other, x, names), nil, impl.ErrInvalid)
+			}
 		}
 	}
 }

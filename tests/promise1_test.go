@@ -83,6 +83,14 @@ func functionsOfStage8() []any {
 	}
 }
 
+// functionsOfStage9 returns the other functions of chapter 11.
+func functionsOfStage9() []any {
+	return []any{
+		impl.SameLts, impl.ReadLts, impl.OutOf, impl.SuccessorsOf, impl.ReachableStates, impl.ReachablePart, impl.DeadlocksOf, impl.IsDeterministicLts,
+		impl.UsedLabels, impl.HideLabels, impl.RenameLabels, impl.UnionLts, impl.ProductLts,
+	}
+}
+
 // argumentsOf returns arguments of one type, most of them invalid somewhere.
 func argumentsOf(typ reflect.Type) []any {
 	switch typ {
@@ -95,6 +103,7 @@ func argumentsOf(typ reflect.Type) []any {
 			"\x00", "\xff", "\xff(\xff)", "é(1)", " a  b ", strings.Repeat("a", 3000), strings.Repeat("0|", 3000), strings.Repeat(",", 3000),
 			strings.Repeat("9", 3000), "\ud7ff\ue000",
 			"put", "p:0:-", "send:0:- hold:0:- add:0:5", "send:0:- hold:0:- add:0:05", "p:0:0 r:0:-9", "proc p 0 = a.p", "proc p 0 = a.p\nrun p", "proc p 0 = a.q\nrun p", "proc p 0 = a.p(1)\nrun p",
+			"1 0|-|-", "1 0||", "2 0|a|0:1:1", "2 0|a|0:1:1 0:0:1", "41 0|-|-", "tau|a|0:0:0",
 			"linear 0: -", "linear 1: 5\nsum 1 if v0<v1 do a(v1) then v0", "linear 1: 5\nsum 1 if v0<v2 do a(v1) then v0"}
 	case reflect.TypeFor[[]int64]():
 		return []any{[]int64(nil), []int64{0}, []int64{1}, []int64{-1}, []int64{0, 0}, []int64{0, 1, 0}, []int64{0, 1, 1}, []int64{0, 2},
@@ -214,7 +223,7 @@ func ltsArguments() []any {
 
 func TestPromise1AllArguments(t *testing.T) {
 	t.Parallel()
-	for _, f := range slices.Concat(functionsOfStage1(), functionsOfStage2(), functionsOfStage3(), functionsOfStage4(), functionsOfStage5(), functionsOfStage6(), functionsOfStage7(), functionsOfStage8()) {
+	for _, f := range slices.Concat(functionsOfStage1(), functionsOfStage2(), functionsOfStage3(), functionsOfStage4(), functionsOfStage5(), functionsOfStage6(), functionsOfStage7(), functionsOfStage8(), functionsOfStage9()) {
 		t.Run(nameOf(f), func(t *testing.T) {
 			t.Parallel()
 			for _, args := range argumentLists(reflect.TypeOf(f)) {
@@ -408,6 +417,30 @@ func TestPromise1ExplorationsAreTheCallers(t *testing.T) {
 		return []any{one, states, two, points, distances, shortest, names, replayed, none, reached, start, broken, trace}
 	})
 	if !same(l.Start, []int64{7, 0}) || !same(x, house()) || !same(targets, []int64{0, 3}) || !same(path, []int64{3, 6}) || !same(labels, []string{"a(1)"}) || !same(e, op(impl.OpLess, vr(1), num(2))) {
+		t.Error("an argument is changed")
+	}
+}
+
+// TestPromise1LtssAreTheCallers also combines a system with itself.
+func TestPromise1LtssAreTheCallers(t *testing.T) {
+	x, names := copied(house()), []string{"b"}
+	checkCallers(t, func() []any {
+		read, _ := impl.ReadLts("2 0|a|0:1:1")
+		out, _ := impl.OutOf(x, 1)
+		next, _ := impl.SuccessorsOf(x, 1, "tau")
+		states, _ := impl.ReachableStates(x)
+		part, numbers, _ := impl.ReachablePart(x)
+		ends, _ := impl.DeadlocksOf(impl.Lts{States: 1, Labels: x.Labels[:1]})
+		used, _ := impl.UsedLabels(x)
+		kept, _ := impl.HideLabels(x, nil)
+		hidden, _ := impl.HideLabels(x, names)
+		renamed, _ := impl.RenameLabels(x, "b", "b")
+		union, _ := impl.UnionLts(x, x)
+		product, _ := impl.ProductLts(x, x, names)
+		alone, _ := impl.ProductLts(x, impl.Lts{States: 1, Labels: x.Labels}, names)
+		return []any{read, out, next, states, part, numbers, ends, used, kept, hidden, renamed, union, product, alone}
+	})
+	if !same(x, house()) || !same(names, []string{"b"}) {
 		t.Error("an argument is changed")
 	}
 }
