@@ -245,6 +245,26 @@ func functionsOfLts() []functionOfLts {
 		{impl.UsedLabels, none, 1},
 		{impl.HideLabels, texts, 1},
 		{impl.RenameLabels, [][]any{{"a", "b"}, {"tau", "a"}, {"", "\xff"}}, 1},
+		{impl.InternalClosure, lists, 1},
+		{impl.AfterTrace, texts, 1},
+		{impl.IsCompletedTrace, texts, 1},
+		{impl.DeterminizeLts, none, 2},
+		{impl.MinimalTraces, none, 1},
+		{impl.CountTraces, states, 1},
+		{impl.TracesOf, states, 1},
+	}
+}
+
+// functionsOfTwoLtss returns functions of two systems, and how many results are beside the code.
+func functionsOfTwoLtss() []functionOfLts {
+	names := [][]any{{nil}, {[]string{"a"}}, {[]string{"tau"}}, {[]string{""}}}
+	none := [][]any{nil}
+	return []functionOfLts{
+		{impl.UnionLts, none, 1},
+		{impl.ProductLts, names, 1},
+		{impl.IncludesTraces, none, 2},
+		{impl.EqualTraces, none, 2},
+		{impl.CommonTraces, none, 1},
 	}
 }
 
@@ -257,12 +277,13 @@ func TestErrorsOfFunctionsOfLtss(t *testing.T) {
 			}
 		}
 		expect(t, impl.IsDeterministicLts, in(x), false)
-		for _, other := range []impl.Lts{house(), full(11, 300), {}} {
-			expect(t, impl.UnionLts, in(x, other), nil, impl.ErrInvalid)
-			expect(t, impl.UnionLts, in(other, x), nil, impl.ErrInvalid)
-			for _, names := range [][]string{nil, {"a"}, {"tau"}, {""}} {
-				expect(t, impl.ProductLts, in(x, other, names), nil, impl.ErrInvalid)
-				expect(t, impl.ProductLts, in(other, x, names), nil, impl.ErrInvalid)
+		// The other system is one of any kind, also one that would be too large.
+		for _, other := range []impl.Lts{house(), full(11, 300), lasso(40), {}, x} {
+			for _, c := range functionsOfTwoLtss() {
+				for _, list := range c.lists {
+					expect(t, c.f, append(in(x, other), list...), append(make([]any, c.results), int64(impl.ErrInvalid))...)
+					expect(t, c.f, append(in(other, x), list...), append(make([]any, c.results), int64(impl.ErrInvalid))...)
+				}
 			}
 		}
 	}

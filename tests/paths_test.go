@@ -102,12 +102,20 @@ func TestShortestPathOfSeveral(t *testing.T) {
 	expectPath(t, x, []int64{5}, []int64{0, 1, 4, 5}, 5, "a a b tau")
 }
 
+// notStateLists returns lists that are not strictly increasing ones of states of a system with four states.
+func notStateLists() [][]int64 {
+	return [][]int64{
+		// Not increasing, and equal.
+		{1, 0}, {0, 3, 2}, {2, 1}, {1, 1}, {0, 0}, {3, 3}, {1, 2, 2}, repeated(1000, 1), counted(1000),
+		// Negative, and the number of states.
+		{-1}, {-1, 1}, {4}, {1, 4}, {0, 4}, {1, 5}, {40}, {math.MinInt64}, {math.MinInt64, 1}, {math.MaxInt64}, {1, math.MaxInt64}, {1, -1},
+	}
+}
+
 func TestShortestPathErrors(t *testing.T) {
 	x := ltsFrom("4 1|a|0:1:2 1:1:1 1:1:2 2:0:1 3:1:0")
-	// Not strictly increasing, equal, negative, and the number of states; these go before what is not found.
-	for _, targets := range [][]int64{
-		{1, 0}, {0, 3, 2}, {2, 1}, {1, 1}, {0, 0}, {3, 3}, {1, 2, 2}, {-1}, {-1, 1}, {4}, {1, 4}, {0, 4}, {1, 5}, {40}, {math.MinInt64}, {math.MinInt64, 1}, {math.MaxInt64}, {1, math.MaxInt64}, {1, -1}, repeated(1000, 1), counted(1000),
-	} {
+	// These go before what is not found.
+	for _, targets := range notStateLists() {
 		expect(t, impl.ShortestPath, in(x, targets), nil, impl.ErrRange)
 	}
 	for _, targets := range [][]int64{nil, {0}, {3}, {0, 3}} {

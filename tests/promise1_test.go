@@ -91,6 +91,14 @@ func functionsOfStage9() []any {
 	}
 }
 
+// functionsOfStage10 returns all functions of chapter 12.
+func functionsOfStage10() []any {
+	return []any{
+		impl.InternalClosure, impl.AfterTrace, impl.IsCompletedTrace, impl.DeterminizeLts, impl.IncludesTraces, impl.EqualTraces, impl.MinimalTraces,
+		impl.CountTraces, impl.TracesOf, impl.CommonTraces,
+	}
+}
+
 // argumentsOf returns arguments of one type, most of them invalid somewhere.
 func argumentsOf(typ reflect.Type) []any {
 	switch typ {
@@ -215,7 +223,7 @@ func linearArguments() []any {
 
 func ltsArguments() []any {
 	list := []any{impl.Lts{States: math.MinInt64, Initial: math.MaxInt64, Labels: make([]string, 1000), Edges: make([]impl.Edge, 1000)}}
-	for _, x := range slices.Concat(validLtss(), invalidLtss(), smallLtss(20), largeLtss(5)) {
+	for _, x := range slices.Concat(validLtss(), invalidLtss(), smallLtss(20), largeLtss(5), tooLargeLtss(), largestLtss(), []impl.Lts{hall()}) {
 		list = append(list, x)
 	}
 	return list
@@ -223,7 +231,7 @@ func ltsArguments() []any {
 
 func TestPromise1AllArguments(t *testing.T) {
 	t.Parallel()
-	for _, f := range slices.Concat(functionsOfStage1(), functionsOfStage2(), functionsOfStage3(), functionsOfStage4(), functionsOfStage5(), functionsOfStage6(), functionsOfStage7(), functionsOfStage8(), functionsOfStage9()) {
+	for _, f := range slices.Concat(functionsOfStage1(), functionsOfStage2(), functionsOfStage3(), functionsOfStage4(), functionsOfStage5(), functionsOfStage6(), functionsOfStage7(), functionsOfStage8(), functionsOfStage9(), functionsOfStage10()) {
 		t.Run(nameOf(f), func(t *testing.T) {
 			t.Parallel()
 			for _, args := range argumentLists(reflect.TypeOf(f)) {
@@ -441,6 +449,30 @@ func TestPromise1LtssAreTheCallers(t *testing.T) {
 		return []any{read, out, next, states, part, numbers, ends, used, kept, hidden, renamed, union, product, alone}
 	})
 	if !same(x, house()) || !same(names, []string{"b"}) {
+		t.Error("an argument is changed")
+	}
+}
+
+// TestPromise1TracesAreTheCallers also takes traces beside a false, and sets and traces of one result.
+func TestPromise1TracesAreTheCallers(t *testing.T) {
+	x, y, states, trace := copied(hall()), ring(3, "a"), []int64{0, 3}, []string{"a", "a(1)"}
+	checkCallers(t, func() []any {
+		closed, _ := impl.InternalClosure(x, states)
+		end, _ := impl.InternalClosure(x, []int64{4})
+		after, _ := impl.AfterTrace(x, trace)
+		start, _ := impl.AfterTrace(x, nil)
+		d, sets, _ := impl.DeterminizeLts(x)
+		alone, one, _ := impl.DeterminizeLts(impl.Lts{States: 1, Labels: x.Labels})
+		_, missing, _ := impl.IncludesTraces(y, x)
+		_, other, _ := impl.EqualTraces(x, y)
+		least, _ := impl.MinimalTraces(x)
+		traces, _ := impl.TracesOf(x, 3)
+		empty, _ := impl.TracesOf(x, 0)
+		common, _ := impl.CommonTraces(x, x)
+		less, _ := impl.CommonTraces(x, y)
+		return []any{closed, end, after, start, d, sets, alone, one, missing, other, least, traces, empty, common, less}
+	})
+	if !same(x, hall()) || !same(y, ring(3, "a")) || !same(states, []int64{0, 3}) || !same(trace, []string{"a", "a(1)"}) {
 		t.Error("an argument is changed")
 	}
 }
