@@ -13,6 +13,7 @@ func TestHelperSeesSharedMemory(t *testing.T) {
 	list := []int64{1, 2, 3, 4}
 	nested := [][]int64{list}
 	terms := []impl.Term{{Kind: 1}, {Kind: 1}}
+	words := []string{"a", "b", "c"}
 	holder := struct{ Lists [][]int64 }{nested}
 	cases := []struct {
 		what          string
@@ -29,6 +30,10 @@ func TestHelperSeesSharedMemory(t *testing.T) {
 		{"terms", []any{terms}, []any{terms[1:]}, true},
 		{"unused capacity of terms", []any{terms[:1]}, []any{terms[1:]}, true},
 		{"operands in one memory", nil, []any{[][]impl.Term{terms[:1], terms[1:]}}, true},
+		{"traces in one memory", nil, []any{[][]string{words[:1], words}}, true},
+		{"unused capacity of a trace", []any{words[:1]}, []any{[][]string{nil, words[1:]}}, true},
+		{"a system and a trace", nil, []any{impl.Lts{Labels: words}, words[1:]}, true},
+		{"a system and a set", nil, []any{impl.Lts{Labels: words}, [][]int64{list}}, false},
 		{"a field of a struct", []any{list}, []any{holder}, true},
 		{"two arguments", []any{list, list}, []any{[]int64{1}}, false},
 		{"neighbours", nil, []any{[][]int64{list[:2:2], list[2:]}}, false},
@@ -61,6 +66,22 @@ func TestHelperSeesChanges(t *testing.T) {
 		change(given.Interface().([][]int64))
 		if reflect.DeepEqual(before, withCapacity(given).Interface()) {
 			t.Error("a change of an argument is not seen")
+		}
+	}
+}
+
+func TestHelperSeesChangesOfTraces(t *testing.T) {
+	for i, change := range []func([]string){
+		func(trace []string) { trace[1] = "c" },
+		func(trace []string) { trace[0], trace[1] = trace[1], trace[0] },
+		func(trace []string) { _ = append(trace, "c") },
+		func(trace []string) { _ = append(trace[:1], trace[2:3]...) },
+	} {
+		given := copyOf(reflect.ValueOf([]string{"a", "b"}), spareRoom)
+		before := withCapacity(given).Interface()
+		change(given.Interface().([]string))
+		if reflect.DeepEqual(before, withCapacity(given).Interface()) {
+			t.Error("a change of a trace is not seen:", i)
 		}
 	}
 }
